@@ -380,7 +380,7 @@ func TestWhatIsCalledIsDescribed(t *testing.T) {
 
 func TestAnyTermEnds(t *testing.T) {
 	deep := term.A("[]")
-	for range 1 << 16 {
+	for range 1 << 13 {
 		deep = api.Term{Kind: api.Struct, Name: "f", Args: []api.Term{deep}}
 	}
 	d := desc.Fresh(2)
