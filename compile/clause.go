@@ -1,6 +1,8 @@
 package compile
 
 import (
+	"slices"
+
 	"resolvent/api"
 	"resolvent/check"
 	"resolvent/code"
@@ -41,6 +43,7 @@ func (w *whole) clause(i int) {
 func (c *writer) emit(i code.Instr) {
 	if c.arg >= 0 && c.advice.Get != nil {
 		i = c.advice.Get(c.number, c.arg, i)
+		i.Cases = slices.Clone(i.Cases)
 	}
 	c.put(i)
 }

@@ -120,14 +120,14 @@ func (m *machine) goal(i *code.Instr) api.Term {
 		if i.N == 1 {
 			g.Args[j] = m.top(m.follow(m.x[j]))
 		} else {
-			g.Args[j] = m.term(m.x[j])
+			g.Args[j] = m.begun(m.x[j])
 		}
 	}
 	return g
 }
 
 func (m *machine) is() {
-	n, err := arith.Eval(subst.New(), m.term(m.x[1]))
+	n, err := arith.Eval(subst.New(), m.begun(m.x[1]))
 	if err != api.OK {
 		m.ended(false, err)
 		return

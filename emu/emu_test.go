@@ -252,6 +252,25 @@ func TestStepsAndTrail(t *testing.T) {
 	}
 }
 
+func TestBuiltinsOfGreatTerms(t *testing.T) {
+	const great = "d(X,f(X,X)). t(J):-d(a,A),d(A,B),d(B,C),d(C,D),d(D,E),d(E,F),d(F,G),d(G,H),d(H,I),d(I,J). p:-X=f(A,B,C),t(A),t(B),t(C),"
+	for goal, want := range map[string]string{
+		"X<1": "error 21", "Y is X": "error 21", "Y is X+Z": "error 21", "Y is Z+X": "error 20", "X==a": "full", "a==X": "full", "X @< a": "full", "X=X": "full", "X\\=X": "full",
+		"X=Y": "full", "compound(X)": "yes(); no", "var(X)": "no", "atom(X)": "no", "X=a": "no", "X\\=a": "yes(); no",
+	} {
+		p := load(t, great+goal+" .")
+		c, _ := compile.Compile(p)
+		r, err := Run(c, query(t, "p"), roomy)
+		if got := told(r.Events); err != api.OK || got != want {
+			t.Error(goal, got, err)
+		}
+		l, _ := sld.Run(p, query(t, "p"), 1000)
+		if !agree(sld.Answers(l), r.Events) {
+			t.Error(goal, told(sld.Answers(l)))
+		}
+	}
+}
+
 // isBeginning tells whether the one's events, without the last one, are a beginning of the other's.
 func isBeginning(a, b []api.Event) bool {
 	return len(a) > 0 && len(a)-1 <= len(b) && reflect.DeepEqual(append([]api.Event{}, a[:len(a)-1]...), append([]api.Event{}, b[:len(a)-1]...))

@@ -188,14 +188,24 @@ func (s *store) occurs(place int64, c cell) bool {
 // term is the term of a cell, its variables being numbered by their places.
 func (s *store) term(c cell) api.Term {
 	nodes := 0
+	t := s.termWithin(c, &nodes)
+	if nodes > api.MaxWork {
+		panic(full{})
+	}
+	return t
+}
+
+// begun is the term of a cell as far as a builtin may look at it: of one that is too great there are still too many nodes.
+func (s *store) begun(c cell) api.Term {
+	nodes := 0
 	return s.termWithin(c, &nodes)
 }
 
-// termWithin stops at the first node that is one too many: a cell may lead back to itself.
+// termWithin counts nodes, and goes into none behind the first one that is one too many: a cell may lead back to itself.
 func (s *store) termWithin(c cell, nodes *int) api.Term {
 	*nodes++
 	if *nodes > api.MaxWork {
-		panic(full{})
+		return api.Term{Kind: api.Var}
 	}
 	c = s.follow(c)
 	t := s.top(c)

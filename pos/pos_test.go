@@ -195,6 +195,10 @@ func TestRenameThatMayNotBe(t *testing.T) {
 	if !Rename(Const(false), nil).Same(Const(false)) {
 		t.Error("of none")
 	}
+	great := And(Var(0), Or(Var(1), Var(math.MaxInt)))
+	if g := Rename(And(Var(0), Or(Var(1), Var(2))), []int{math.MaxInt, 1, 0}); !g.Same(And(Var(math.MaxInt), Or(Var(1), Var(0)))) || great.Size() != 3 || !great.Entails(0) {
+		t.Error("the greatest variable", g)
+	}
 }
 
 func TestEvalEntailsBelow0(t *testing.T) {
