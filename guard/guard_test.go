@@ -63,6 +63,9 @@ func TestFind(t *testing.T) {
 			t.Error(text, place, err)
 		}
 	}
+	if place, err := Find(l[1:], query(t, "p(1)")); place != 0 || err != api.OK {
+		t.Error("the first one", place, err)
+	}
 	if place, err := Find(nil, term.A("p")); place != -1 || err != api.ErrPattern {
 		t.Error("of none", place, err)
 	}

@@ -57,6 +57,7 @@ func TestTokens(t *testing.T) {
 		"1(":                         "i1^ s( none",
 		"a (":                        "aa s( none",
 		"[]":                         "s[ s] none",
+		"z Zz aZ09_ '~ {' ":          "az vZz aaZ09_ q~ { none",
 		"+-*/\\^<>=~:.?@#&$":         "a+-*/\\^<>=~:.?@#&$ none",
 	} {
 		l, at, err := Lex(text)

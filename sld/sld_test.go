@@ -176,6 +176,16 @@ func TestFull(t *testing.T) {
 	}
 }
 
+func TestFullHead(t *testing.T) {
+	const ten = "d(X,f(X,X)). t(J):-d(a,A),d(A,B),d(B,C),d(C,D),d(D,E),d(E,F),d(F,G),d(G,H),d(H,I),d(I,J). "
+	for head, want := range map[string]string{"q(X,X,c)": "no", "q(X,X,_)": "full", "q(_,b,_)": "no"} {
+		l, err := Run(load(t, ten+"p:-t(A),t(B),t(C),q(A,B,C). "+head+"."), query(t, "p"), 100)
+		if err != api.OK || told(Answers(l)) != want || want == "full" && l[len(l)-2].Kind != api.EvCall {
+			t.Error(head, told(Answers(l)))
+		}
+	}
+}
+
 func TestErrors(t *testing.T) {
 	p := load(t, "p(a). q.")
 	bad := load(t, "p(a):-q.")
