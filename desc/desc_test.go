@@ -68,6 +68,9 @@ func TestMake(t *testing.T) {
 	if Top(64).N() != 64 || len(Top(64).Share()) != 64*63/2 || Entry(make([]uint8, 70)).N() != 0 || Entry(make([]uint8, 64)).N() != 64 {
 		t.Error("64 places")
 	}
+	if len(Entry(make([]uint8, 64)).Share()) != 64*63/2 {
+		t.Error("64 modes")
+	}
 	if !(D{}).IsBottom() || (D{}).N() != 0 {
 		t.Error("the zero one")
 	}
@@ -133,7 +136,7 @@ func TestJoinAndLeq(t *testing.T) {
 		a, b D
 		want bool
 	}{
-		{p, p, true}, {p, j, true}, {q, j, true}, {j, p, false}, {p, Top(3), true}, {Top(3), p, false}, {p, Top(2), false}, {Bottom(2), p, true}, {p, Bottom(3), false}, {Bottom(3), Bottom(2), true},
+		{p, p, true}, {p, j, true}, {q, j, true}, {j, p, false}, {p, Top(3), true}, {Top(3), p, false}, {p, Top(2), false}, {Make(3, pos.Const(true), nil, nil, nil), Top(2), false}, {Top(2), Top(3), false}, {Bottom(2), p, true}, {p, Bottom(3), false}, {Bottom(3), Bottom(2), true},
 		{Fresh(2), Top(2), true}, {Top(2), Fresh(2), false}, {Make(2, pos.Const(true), is(0, 1), nil, nil), Make(2, pos.Const(true), nil, nil, nil), false},
 		{Make(2, pos.Const(true), nil, nil, nil), Make(2, pos.Const(true), nil, []int{1}, nil), false}, {Make(1, pos.Var(0), nil, nil, nil), Entry([]uint8{3}), false}, {Entry([]uint8{3}), Make(1, pos.Var(0), nil, nil, nil), true},
 		{Make(2, pos.And(pos.Var(0), pos.Var(1)), nil, nil, nil), Make(2, pos.Iff(0, []int{1}), nil, nil, nil), true}, {Make(2, pos.Iff(0, []int{1}), nil, nil, nil), Make(2, pos.Var(0), nil, nil, nil), false},
@@ -155,6 +158,9 @@ func TestProject(t *testing.T) {
 	if !p.Ground().Same(want) || !slices.Equal(p.Share(), is(0, 2, 0, 3, 2, 3)) || !slices.Equal(p.Free(), []int{0, 2}) {
 		t.Error("a place twice", p.Text())
 	}
+	if p = d.Project([]int{3, 0, 3}); !slices.Equal(p.Share(), is(0, 2)) {
+		t.Error("a place twice, and one that is apart", p.Text())
+	}
 	p = d.Project([]int{2, 9, 1, -1, 4})
 	if !p.Ground().Same(pos.Var(0)) || !slices.Equal(p.Share(), is(1, 2, 1, 3, 1, 4, 2, 3, 2, 4, 3, 4)) || len(p.Free()) != 0 || p.Type(1).Text() != "any" {
 		t.Error("beyond n", p.Text())
@@ -174,7 +180,8 @@ func TestProject(t *testing.T) {
 }
 
 func TestTextAndMemory(t *testing.T) {
-	all := []D{Top(2), Fresh(2), Bottom(2), Top(3), Entry([]uint8{1, 0}), Entry([]uint8{3, 0}), Entry([]uint8{0, 1}), Make(2, pos.Iff(0, []int{1}), nil, nil, nil), Make(2, pos.Const(true), nil, []int{0}, nil), Make(2, pos.Const(true), nil, nil, nil), Bottom(3)}
+	all := []D{Top(2), Fresh(2), Bottom(2), Top(3), Entry([]uint8{1, 0}), Entry([]uint8{3, 0}), Entry([]uint8{0, 1}), Make(2, pos.Iff(0, []int{1}), nil, nil, nil), Make(2, pos.Const(true), nil, []int{0}, nil), Make(2, pos.Const(true), nil, nil, nil), Bottom(3),
+		Make(3, pos.Const(true), is(0, 2), nil, nil), Make(3, pos.Const(true), is(1, 2), nil, nil), Make(3, pos.Const(true), is(0, 1), nil, nil), Make(3, pos.Const(true), nil, []int{1}, nil), Make(3, pos.Const(true), nil, []int{2}, nil)}
 	for i, p := range all {
 		for j, q := range all {
 			if (p.Text() == q.Text()) != (i == j) {

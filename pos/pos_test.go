@@ -243,6 +243,11 @@ func TestTooGreatBecomesTrue(t *testing.T) {
 	if !Rename(most, back).Same(most) {
 		t.Error("Rename of MaxNodes nodes")
 	}
+	to := all(0, api.MaxNodes)
+	to[0] = 1000
+	if f := Rename(most, to); f.Size() != api.MaxNodes || !f.Entails(1000) || f.Entails(0) {
+		t.Error("Rename of the first one to the last one", f.Size())
+	}
 	if f := Iff(0, all(1, 129)); f.Size() != 1+2*128 && !f.Same(yes) || !f.Same(yes) {
 		t.Error("Iff of 257 nodes", f.Size())
 	}

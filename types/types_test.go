@@ -305,6 +305,23 @@ func TestWhatFollows(t *testing.T) {
 	}
 }
 
+func TestText(t *testing.T) {
+	f := func(l ...T) T { return Fun("f", l...) }
+	l := []T{T{}, Any(), Int(), Atoms(), Atoms("a"), Atoms("b"), Atoms("a", "b"), Atoms("number"), Atoms("a|b"), all(Int(), Atoms("a")), all(Int(), Atoms()), f(Int()), f(Any()), f(Int(), Int()), f(f(Int())), Fun("g", Int()), Fun("f(", Int()),
+		List(Int()), List(Any()), List(T{}), List(List(Int())), Fun("list", Int()), all(List(Int()), Int()), all(List(Int()), f(Int())), cell(Int(), Any()), nilType, all(nilType, cell(Int(), Any())), all(f(Int()), f(Int(), Int())), all(f(Int()), Atoms("f"))}
+	for i, x := range l {
+		for j, y := range l {
+			if (x.Text() == y.Text()) != (i == j) {
+				t.Error("Text", x.Text(), y.Text())
+			}
+		}
+	}
+	four := all(f(Int()), Fun("g", Int()), Fun("h", Int()), Fun("k", Int()))
+	if four.Member(one) || !four.Member(term.F("k", one)) || !Join(four, Fun("m", Int())).Member(one) {
+		t.Error("MaxWidth structures", four.Text())
+	}
+}
+
 func TestArgumentsStay(t *testing.T) {
 	names := []string{"c", "a", "b", "a"}
 	x := Atoms(names[:2]...)
