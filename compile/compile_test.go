@@ -107,6 +107,7 @@ func TestCompile(t *testing.T) {
 		"p:-X=f(g(Y,h(Y)),Z,k(1)),p.":     "allocate 3; putvar -1 0; putstruct h/1 49; var -2; putstruct g/2 48; val -2; val 49; putstruct k/1 50; const 1; putstruct f/3 1; val 48; var -3; val 50; builtin =/2; deallocate; execute 2 p/0",
 		"p(X):-p(f(g(X))),p(f(g(a))).":    "allocate 1; getvar -1 0; putstruct g/1 48; val -1; putstruct f/1 0; val 48; call 2 p/1; putstruct g/1 48; const a; putstruct f/1 0; val 48; deallocate; execute 2 p/1",
 		"p:-p(b,9). p(_,_).":              "allocate 0; putconst b 0; putconst 9 1; deallocate; execute 7 p/2; getvar 16 0; getvar 17 1; proceed",
+		"p(a). p(b). p(a).":               "switch 3 a:6 b:10; try 8 1; retry 10 1; trust 12 1; try 8 1; trust 12 1; getconst a 0; proceed; getconst b 0; proceed; getconst a 0; proceed",
 		"p. p.":                           "try 4 0; trust 5 0; proceed; proceed",
 		"p. p. p.":                        "try 5 0; retry 6 0; trust 7 0; proceed; proceed; proceed",
 		"p(a). p(X).":                     "try 4 1; trust 6 1; getconst a 0; proceed; getvar 16 0; proceed",
@@ -229,6 +230,43 @@ func make16() []api.Term {
 		l = append(l, term.V(i))
 	}
 	return l
+}
+
+func TestMaxCode(t *testing.T) {
+	// Each such goal is 35 instructions, each goal true one.
+	wide := term.F("=", term.F("f", make16()...), term.F("f", make16()...))
+	p := api.Program{}
+	for range 16 {
+		c := api.Clause{Head: term.A("p"), Vars: 16}
+		for range 29 {
+			c.Body = append(c.Body, wide)
+		}
+		p.Clauses = append(p.Clauses, c)
+	}
+	count := func() int {
+		c, err := Compile(p)
+		if err != api.OK || c.Check() != api.OK {
+			t.Fatal("no code", err)
+		}
+		return len(c.Instrs)
+	}
+	for i := 0; count() < code.MaxCode; i++ {
+		missing := code.MaxCode - count()
+		if missing > 60 {
+			p.Clauses = append(p.Clauses, api.Clause{Head: term.A("q"), Body: []api.Term{wide}, Vars: 16})
+		} else {
+			c := &p.Clauses[len(p.Clauses)-1-i%16]
+			c.Body = append(c.Body, term.A("true"))
+		}
+	}
+	if n := count(); n != code.MaxCode {
+		t.Fatal("the test's program", n)
+	}
+	c := &p.Clauses[len(p.Clauses)-1]
+	c.Body = append(c.Body, term.A("true"))
+	if c, err := Compile(p); err != api.ErrLong || c.Instrs != nil || c.Entry != nil {
+		t.Error("one instruction more", err)
+	}
 }
 
 func TestWith(t *testing.T) {

@@ -93,6 +93,12 @@ func TestRun(t *testing.T) {
 		{"p(1). p(a). p(f(X)). p(1). p(f(X,Y)). p([]).", "p(1)", "yes(); yes(); no"},
 		{"p(1). p(a). p(f(X)). p(1). p(f(X,Y)). p([]).", "p(b)", "no"},
 		{"p(1). p(a). p(f(X)). p(1). p(f(X,Y)). p([]).", "p(A)", "yes(1); yes(a); yes(f(_0)); yes(1); yes(f(_0,_1)); yes([]); no"},
+		{"p(1). p(a). p(f(X)). p(2). p(f(X,Y)). p(b). p(g(X)).", "p(2)", "yes(); no"},
+		{"p(1). p(a). p(f(X)). p(2). p(f(X,Y)). p(b). p(g(X)).", "p(3)", "no"},
+		{"p(1). p(a). p(f(X)). p(2). p(f(X,Y)). p(b). p(g(X)).", "p(f(X,a))", "yes(_0); no"},
+		{"p(1). p(a). p(f(X)). p(2). p(f(X,Y)). p(b). p(g(X)).", "p(g(Z))", "yes(_0); no"},
+		{"p(1). p(a). p(f(X)). p(2). p(f(X,Y)). p(b). p(g(X)).", "p(b)", "yes(); no"},
+		{"p(X):-X\\=f(X). p(X):-f(X)\\=f(X).", "p(X)", "yes(_0); no"},
 		{"n(0). n(X):-n(Y),X is Y+1. p(X):-n(X),X > 30,!.", "p(X)", "yes(31); no"},
 	} {
 		r, err := Run(compiled(t, c[0]), query(t, c[1]), roomy)
@@ -237,17 +243,61 @@ func TestStepsAndTrail(t *testing.T) {
 		text, q      string
 		steps, trail int
 	}{
-		{"p(a).", "p(a)", 3, 0},                     // get, proceed, answer
-		{"p(a).", "p(X)", 3, 0},                     // no choice, nothing on the trail
-		{"p(a). p(b).", "p(X)", 9, 1},               // switch, and by try and trust: each get, proceed, answer
-		{"p(a). p(b).", "p(b)", 4, 0},               // the switch, and one alone
-		{"p(X,X). p(_,_).", "p(Y,Z)", 10, 1},        // Z is bound to Y
-		{"p(X):-X\\=b,q. p(_). q.", "p(a)", -1, 0},  // nothing is bound by \=
-		{"p(X):-f(X)\\=f(b). p(_).", "p(X)", -1, 1}, // X is bound by \=, and put back
+		{"p(a).", "p(a)", 3, 0},                        // get, proceed, answer
+		{"p(a).", "p(X)", 3, 0},                        // no choice, nothing on the trail
+		{"p(a). p(b).", "p(X)", 9, 1},                  // switch, and by try and trust: each get, proceed, answer
+		{"p(a). p(b).", "p(b)", 4, 0},                  // the switch, and one alone
+		{"p(X,X). p(_,_).", "p(Y,Z)", 10, 1},           // Z is bound to Y
+		{"p(X):-q(Y),X=1. p(_). q(a).", "p(Z)", -1, 1}, // Y is behind where the heap ended
+		{"p(X):-X\\=b,q. p(_). q.", "p(a)", -1, 0},     // nothing is bound by \=
+		{"p(X):-f(X)\\=f(b). p(_).", "p(X)", -1, 1},    // X is bound by \=, and put back
 	} {
 		r, err := Run(compiled(t, c.text), query(t, c.q), roomy)
 		if err != api.OK || r.Trail != c.trail || c.steps >= 0 && r.Steps != c.steps {
 			t.Error(c.text, c.q, r.Steps, r.Trail, told(r.Events))
+		}
+	}
+}
+
+// tree is a term of so many nodes.
+func tree(nodes int) api.Term {
+	if nodes == 1 {
+		return term.A("a")
+	}
+	n := min(api.MaxArity, nodes-1)
+	var l []api.Term
+	for i := range n {
+		l = append(l, tree((nodes-1+i)/n))
+	}
+	return term.F("f", l...)
+}
+
+func TestWorkOfOneInstruction(t *testing.T) {
+	if term.Size(tree(api.MaxWork)) != api.MaxWork || term.Size(tree(api.MaxWork+1)) != api.MaxWork+1 {
+		t.Fatal("tree")
+	}
+	c := compiled(t, "p(X,Y):-X=Y. q(_). r(X,X).")
+	for i, x := range []struct {
+		q    api.Term
+		want string
+	}{
+		{term.F("p", tree(api.MaxWork), tree(api.MaxWork)), "yes(); no"}, {term.F("p", tree(api.MaxWork+1), tree(api.MaxWork+1)), "full"},
+		{term.F("r", tree(api.MaxWork), tree(api.MaxWork)), "yes(); no"}, {term.F("r", tree(api.MaxWork+1), tree(api.MaxWork+1)), "full"},
+		{term.F("p", term.F("g", term.V(0)), term.F("g", tree(api.MaxWork-2))), "yes"}, {term.F("p", term.F("g", term.V(0)), term.F("g", tree(api.MaxWork-1))), "full"},
+		{term.F("p", tree(api.MaxWork-1), term.V(0)), "yes"}, {term.F("p", tree(api.MaxWork), term.V(0)), "full"},
+		{term.F("q", tree(2*api.MaxWork)), "yes(); no"},
+	} {
+		r, err := Run(c, x.q, roomy)
+		if got := told(r.Events); err != api.OK || got != x.want && !(x.want == "yes" && strings.HasPrefix(got, "yes(f(")) {
+			t.Error(i, got, err)
+		}
+	}
+	// A query's variable is told by what it is bound to, by the code, without a look at it.
+	safe := code.Code{Instrs: []code.Instr{{Op: code.OpAnswer}, {Op: code.OpGetValSafe, A: 1}, {Op: code.OpProceed}}, Entry: map[api.Pred]int{{Name: "p", Arity: 2}: 1}}
+	for nodes, want := range map[int]string{api.MaxWork: "yes(f(", api.MaxWork + 1: "full"} {
+		r, err := Run(safe, term.F("p", term.V(0), tree(nodes)), roomy)
+		if err != api.OK || !strings.HasPrefix(told(r.Events), want) {
+			t.Error(nodes, told(r.Events)[:4], err)
 		}
 	}
 }
