@@ -79,6 +79,7 @@ func TestUnify(t *testing.T) {
 		{make4(yes, is(0, 2, 1, 3), []int{1, 2, 3}), "X", "Y", make4(pos.Iff(0, []int{1}), is(0, 1, 0, 2, 0, 3, 1, 2, 1, 3, 2, 3), []int{2})},
 		{make4(yes, is(0, 2, 1, 3), []int{0, 2, 3}), "X", "Y", make4(pos.Iff(0, []int{1}), is(0, 1, 0, 2, 0, 3, 1, 2, 1, 3, 2, 3), []int{3})},
 		{make4(yes, is(0, 2, 1, 3), []int{2, 3}), "X", "Y", make4(pos.Iff(0, []int{1}), is(0, 1, 0, 2, 0, 3, 1, 2, 1, 3, 2, 3), nil)},
+		{make4(yes, is(0, 1, 0, 2), nil), "X", "a", make4(pos.Var(0), nil, nil, types.Atoms("a"))},
 		{make4(yes, is(0, 2), []int{0, 2}), "X", "a", make4(pos.Var(0), nil, nil, types.Atoms("a"))},
 		{make4(pos.Var(1), is(0, 2), []int{0, 2, 3}), "X", "f(Y)", make4(pos.And(pos.Var(0), pos.Var(1)), nil, []int{3}, types.Fun("f", anyType))},
 		{desc.Fresh(4), "f(X,g(Y),a,1)", "f(b,Z,a,1)", make4(pos.And(pos.Var(0), pos.Iff(2, []int{1})), is(1, 2), []int{1, 3}, types.Atoms("b"), anyType, types.Fun("g", anyType))},

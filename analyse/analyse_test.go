@@ -67,18 +67,38 @@ func TestExample(t *testing.T) {
 
 func TestSteps(t *testing.T) {
 	for text, steps := range map[string]int{
-		"p. :-entry(p).":               1,
-		"p. p. q. :-entry(p).":         2,
-		"p:-q. q. :-entry(p).":         3, // p, q, p
-		"p:-fail,q. q. :-entry(p).":    1,
-		"p:-p. :-entry(p).":            1,
-		"p:-q. q:-fail. :-entry(p).":   2, // p, q
-		"p. p:-p. :-entry(p).":         4, // p once more, for its success
-		"p:-q,r. q. r. :-entry(p).":    5, // p, q, p, r, p
-		"p:-r,q. q:-r. r. :-entry(p).": 6, // p, r, p, q, p: r waits no more
+		"p. :-entry(p).":                      1,
+		"p. p. q. :-entry(p).":                2,
+		"p:-q. q. :-entry(p).":                3, // p, q, p
+		"p:-fail,q. q. :-entry(p).":           1,
+		"p:-p. :-entry(p).":                   1,
+		"p:-q. q:-fail. :-entry(p).":          2, // p, q
+		"p. p:-p. :-entry(p).":                4, // p once more, for its success
+		"p:-q,r. q. r. :-entry(p).":           5, // p, q, p, r, p
+		"p:-r,q. q:-r. r. :-entry(p).":        5, // p, r, p, q, p: r waits no more
+		"p:-q(1). p:-q(a). q(_). :-entry(p).": 5, // q waits once
 	} {
-		if table := analysed(t, text); table.Steps() != steps && text != "p:-r,q. q:-r. r. :-entry(p)." || !table.Stable() {
+		if table := analysed(t, text); table.Steps() != steps || !table.Stable() {
 			t.Error(text, table.Steps())
+		}
+	}
+}
+
+func TestStable(t *testing.T) {
+	text := "p(X):-q(X,f(Y)). q(A,A). :-entry(p(free))."
+	for i, change := range []func(table *Table){
+		func(table *Table) { table.calls[pred("q", 2)] = desc.Bottom(2) },
+		func(table *Table) { table.calls[pred("q", 2)] = desc.Fresh(2) },
+		func(table *Table) { table.successes[pred("q", 2)] = desc.Bottom(2) },
+		func(table *Table) { table.successes[pred("p", 1)] = desc.Entry([]uint8{api.ModeGround}) },
+	} {
+		table := analysed(t, text)
+		if !table.Stable() {
+			t.Error("not stable")
+		}
+		change(table)
+		if table.Stable() {
+			t.Error("stable", i)
 		}
 	}
 }

@@ -82,8 +82,8 @@ func (f Func) Holds(sets [][]int) bool {
 	return !s.isFalse(f.root, empty, nil)
 }
 
-// either goes about choices: whether one of them is so.
-func either(choices ...func() bool) bool {
+// some goes about choices: whether one of them is so.
+func some(choices ...func() bool) bool {
 	for _, is := range choices {
 		if is() {
 			return true
@@ -104,7 +104,7 @@ func (s *seeker) isFalse(place int, on bits, open []bits) bool {
 	}
 	n := s.f.nodes[place-first]
 	set := s.sets[n.v]
-	found := either(
+	found := some(
 		func() bool {
 			more := on.with(set)
 			isShut := slices.ContainsFunc(open, func(b bits) bool { return b.isIn(more) })
