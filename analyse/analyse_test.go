@@ -10,38 +10,15 @@ import (
 	"resolvent/api"
 	"resolvent/desc"
 	"resolvent/graph"
-	"resolvent/norm"
-	"resolvent/parse"
 	"resolvent/pos"
-	"resolvent/program"
+	"resolvent/sample"
 	"resolvent/sld"
 	"resolvent/term"
 	"resolvent/types"
 )
 
-const app = "app([],L,L). app([X|A],B,[X|C]):-app(A,B,C). "
-
-func load(t *testing.T, text string) api.Program {
-	p, at, err := program.Read(text)
-	if err == api.OK {
-		p, at, err = norm.Normal(p)
-	}
-	if err != api.OK {
-		t.Fatal(text, at, err)
-	}
-	return p
-}
-
-func query(t *testing.T, text string) api.Term {
-	l, at, err := parse.Terms(text + " .")
-	if err != api.OK {
-		t.Fatal(text, at, err)
-	}
-	return l[0].T
-}
-
 func analysed(t *testing.T, text string) *Table {
-	p := load(t, text)
+	p := sample.Load(t, text)
 	table, err := Analyse(p, p.Entries[0])
 	if err != api.OK {
 		t.Fatal(text, err)
@@ -52,7 +29,7 @@ func analysed(t *testing.T, text string) *Table {
 func pred(name string, arity int) api.Pred { return api.Pred{Name: name, Arity: arity} }
 
 func TestExample(t *testing.T) {
-	table := analysed(t, app+":-entry(app(ground,ground,free)).")
+	table := analysed(t, sample.App+":-entry(app(ground,ground,free)).")
 	c, s := table.Call(pred("app", 3)), table.Success(pred("app", 3))
 	if c.Text() != desc.Entry([]uint8{1, 1, 2}).Text() {
 		t.Error("the call", c.Text())
@@ -160,8 +137,8 @@ func TestNilAndErrors(t *testing.T) {
 	if !none.Call(pred("p", 1)).IsBottom() || !none.Success(pred("p", 1)).IsBottom() || !none.Point(0, 0).IsBottom() || !none.Head(0, 0).IsBottom() || none.Steps() != 0 || !none.Stable() {
 		t.Error("of nil")
 	}
-	p := load(t, "p(X):-q. q.")
-	bad := load(t, "p(X):-r. q.")
+	p := sample.Load(t, "p(X):-q. q.")
+	bad := sample.Load(t, "p(X):-r. q.")
 	for i, c := range []struct {
 		p   api.Program
 		e   api.Entry
@@ -184,7 +161,7 @@ func TestNilAndErrors(t *testing.T) {
 }
 
 func TestProgramIsNotKept(t *testing.T) {
-	p := load(t, "p(X):-q(f(X)). q(f(_)). :-entry(p(any)).")
+	p := sample.Load(t, "p(X):-q(f(X)). q(f(_)). :-entry(p(any)).")
 	table, _ := Analyse(p, p.Entries[0])
 	p.Clauses[1].Head.Args[0] = term.I(1)
 	p.Clauses[0].Body[0].Args[0].Args[0] = term.A("a")
@@ -199,10 +176,10 @@ var programs = []struct {
 	text    string
 	queries []string
 }{
-	{app + ":-entry(app(ground,ground,free)).", []string{"app([1,2],[3],X)", "app([],a,X)", "app(b,a,X)"}},
-	{app + ":-entry(app(any,any,any)).", []string{"app(X,Y,[1,Z])", "app([X|Y],Y,Z)", "app(X,X,[1,1])", "app(X,[Y|X],Z)"}},
-	{app + "rev([],[]). rev([X|L],R):-rev(L,S),app(S,[X],R). :-entry(rev(ground,free)).", []string{"rev([1,2,3],X)", "rev([],X)", "rev([[],f(a)],X)"}},
-	{app + "rev([],[]). rev([X|L],R):-rev(L,S),app(S,[X],R). :-entry(rev(any,free)).", []string{"rev([X,2,Y],Z)", "rev([X,X],Z)"}},
+	{sample.App + ":-entry(app(ground,ground,free)).", []string{"app([1,2],[3],X)", "app([],a,X)", "app(b,a,X)"}},
+	{sample.App + ":-entry(app(any,any,any)).", []string{"app(X,Y,[1,Z])", "app([X|Y],Y,Z)", "app(X,X,[1,1])", "app(X,[Y|X],Z)"}},
+	{sample.App + "rev([],[]). rev([X|L],R):-rev(L,S),app(S,[X],R). :-entry(rev(ground,free)).", []string{"rev([1,2,3],X)", "rev([],X)", "rev([[],f(a)],X)"}},
+	{sample.App + "rev([],[]). rev([X|L],R):-rev(L,S),app(S,[X],R). :-entry(rev(any,free)).", []string{"rev([X,2,Y],Z)", "rev([X,X],Z)"}},
 	{"len([],0). len([_|L],N):-len(L,M),N is M+1. :-entry(len(any,any)).", []string{"len([A,B,C],X)", "len([A|B],2)", "len(A,B)", "len([A],A)"}},
 	{"p(X,Y):-X=f(Y,Z),q(Z,Y). q(A,A). q(A,B):-A=g(B,C),r(C). r(1). r(_):-fail. :-entry(p(any,any)).", []string{"p(X,Y)", "p(f(A,B),C)", "p(f(A,A),A)", "p(X,X)"}},
 	{"p(X):-(X=1;X=a;X=f(Y),q(Y)). q(b). q(X):- \\+ X=a. :-entry(p(free)).", []string{"p(X)"}},
@@ -218,13 +195,13 @@ var programs = []struct {
 func TestRunsAreDescribed(t *testing.T) {
 	events := 0
 	for _, c := range programs {
-		p := load(t, c.text)
+		p := sample.Load(t, c.text)
 		table, err := Analyse(p, p.Entries[0])
 		if err != api.OK || !table.Stable() {
 			t.Fatal(c.text, err)
 		}
 		for _, text := range c.queries {
-			q := query(t, text)
+			q := sample.Query(t, text)
 			if !desc.Entry(p.Entries[0].Modes).In(q.Args) {
 				t.Fatal("not within the entry", text)
 			}
@@ -262,58 +239,18 @@ func areDescribed(t *testing.T, table *Table, text string, l []api.Event) {
 	}
 }
 
-// next is a small generator of numbers: the tests are the same each time.
-type next uint32
-
-func (n *next) below(m int) int {
-	*n = *n*1664525 + 1013904223
-	return int(*n>>16) % m
-}
-
-func (n *next) term(depth int) string {
-	switch k := n.below(8); {
-	case k < 4:
-		return []string{"X", "Y", "Z"}[n.below(3)]
-	case k < 6 || depth == 0:
-		return []string{"a", "1", "[]", "b"}[n.below(4)]
-	case k == 6:
-		return "[" + n.term(depth-1) + "|" + n.term(depth-1) + "]"
-	}
-	return "f(" + n.term(depth-1) + "," + n.term(depth-1) + ")"
-}
-
-func (n *next) goal() string {
-	switch k := n.below(12); {
-	case k < 3:
-		return n.term(1) + "=" + n.term(2)
-	case k == 3:
-		return []string{"atom", "var", "nonvar", "compound", "integer", "atomic"}[n.below(6)] + "(" + n.term(0) + ")"
-	case k == 4:
-		return []string{"!", "X==Y", "X\\=Y", "Z is 1+1", "X=:=1", "true"}[n.below(6)]
-	}
-	return "p" + strconv.Itoa(n.below(3)) + "(" + n.term(1) + "," + n.term(1) + ")"
-}
-
 func TestAnyProgramsAreDescribed(t *testing.T) {
-	n := next(11)
+	n := sample.Numbers(11)
 	events := 0
 	for range 250 {
-		var b strings.Builder
-		for i := range 3 {
-			for range 1 + n.below(3) {
-				b.WriteString("p" + strconv.Itoa(i) + "(" + n.term(2) + "," + n.term(2) + "):-" + n.goal() + "," + n.goal() + ".\n")
-			}
-			b.WriteString("p" + strconv.Itoa(i) + "(" + n.term(1) + "," + n.term(1) + ").\n")
-		}
-		modes := []string{"any", "ground", "free", "integer", "atom"}
-		b.WriteString(":-entry(p0(" + modes[n.below(5)] + "," + modes[n.below(5)] + ")).")
-		p := load(t, b.String())
+		text := n.Program()
+		p := sample.Load(t, text)
 		table, err := Analyse(p, p.Entries[0])
 		if err != api.OK || !table.Stable() || table.Steps() < 1 {
-			t.Fatal(b.String(), err)
+			t.Fatal(text, err)
 		}
 		for range 6 {
-			q := query(t, "p0("+n.term(1)+","+n.term(1)+")")
+			q := sample.Query(t, n.Query())
 			if !desc.Entry(p.Entries[0].Modes).In(q.Args) {
 				continue
 			}
@@ -322,7 +259,7 @@ func TestAnyProgramsAreDescribed(t *testing.T) {
 				t.Fatal(err)
 			}
 			events += len(l)
-			areDescribed(t, table, b.String(), l)
+			areDescribed(t, table, text, l)
 		}
 	}
 	if events < 3000 {
@@ -334,7 +271,7 @@ func TestTheLeast(t *testing.T) {
 	// The table of an entry is the same each time, and says nothing of what is not called.
 	text := programs[3].text
 	one, two := analysed(t, text), analysed(t, text)
-	for _, p := range graph.Preds(load(t, text)) {
+	for _, p := range graph.Preds(sample.Load(t, text)) {
 		if one.Call(p).Text() != two.Call(p).Text() || one.Success(p).Text() != two.Success(p).Text() {
 			t.Error("another table", p)
 		}

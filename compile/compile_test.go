@@ -8,21 +8,9 @@ import (
 	"resolvent/api"
 	"resolvent/code"
 	"resolvent/graph"
-	"resolvent/norm"
-	"resolvent/program"
+	"resolvent/sample"
 	"resolvent/term"
 )
-
-func load(t *testing.T, text string) api.Program {
-	p, at, err := program.Read(text)
-	if err == api.OK {
-		p, at, err = norm.Normal(p)
-	}
-	if err != api.OK {
-		t.Fatal(text, at, err)
-	}
-	return p
-}
 
 // short tells an instruction in a word: its operation, and what it has.
 func short(i code.Instr) string {
@@ -112,7 +100,7 @@ func TestCompile(t *testing.T) {
 		"p. p. p.":                        "try 5 0; retry 6 0; trust 7 0; proceed; proceed; proceed",
 		"p(a). p(X).":                     "try 4 1; trust 6 1; getconst a 0; proceed; getvar 16 0; proceed",
 	} {
-		c, err := Compile(load(t, text))
+		c, err := Compile(sample.Load(t, text))
 		if err != api.OK || c.Check() != api.OK || want != told(c) {
 			t.Errorf("%s:\n%s\n%s", text, told(c), want)
 		}
@@ -120,7 +108,7 @@ func TestCompile(t *testing.T) {
 }
 
 func TestSwitch(t *testing.T) {
-	c, _ := Compile(load(t, "p(f(_)). p(a). p(b). p(2). p(f(c)). p(f(_,_)). p(-1). p(a)."))
+	c, _ := Compile(sample.Load(t, "p(f(_)). p(a). p(b). p(2). p(f(c)). p(f(_,_)). p(-1). p(a)."))
 	s := c.Instrs[2]
 	if len(s.Cases) != 6 || s.A != 3 {
 		t.Fatal("cases", short(s))
@@ -147,7 +135,7 @@ func TestSwitch(t *testing.T) {
 }
 
 func TestEntries(t *testing.T) {
-	p := load(t, "p:-q,q(1). q. q. q(1). q(2).")
+	p := sample.Load(t, "p:-q,q(1). q. q. q(1). q(2).")
 	c, _ := Compile(p)
 	if len(c.Entry) != 3 {
 		t.Fatal("entries", c.Entry)
@@ -174,7 +162,7 @@ func TestEntries(t *testing.T) {
 }
 
 func TestErrors(t *testing.T) {
-	if c, err := Compile(load(t, "p:-q.")); err != api.ErrUndef || c.Instrs != nil || c.Entry != nil {
+	if c, err := Compile(sample.Load(t, "p:-q.")); err != api.ErrUndef || c.Instrs != nil || c.Entry != nil {
 		t.Error("check's error", err)
 	}
 	if _, err := Compile(api.Program{Clauses: make([]api.Clause, 200)}); err != api.ErrLong {
@@ -270,7 +258,7 @@ func TestMaxCode(t *testing.T) {
 }
 
 func TestWith(t *testing.T) {
-	p := load(t, "p(X,f(Y,g(X)),a):-q(X,f(Y)),!. q(a,_). q(b,_). r(1). r(2).")
+	p := sample.Load(t, "p(X,f(Y,g(X)),a):-q(X,f(Y)),!. q(a,_). q(b,_). r(1). r(2).")
 	var seen []string
 	a := Advice{
 		Get: func(clause, arg int, i code.Instr) code.Instr {
@@ -311,7 +299,7 @@ func TestWith(t *testing.T) {
 	if c, err := With(p, Advice{}); err != api.OK || told(c) != told(plain) {
 		t.Error("without functions")
 	}
-	if _, err := With(load(t, "p:-q."), a); err != api.ErrUndef {
+	if _, err := With(sample.Load(t, "p:-q."), a); err != api.ErrUndef {
 		t.Error("check's error")
 	}
 }
@@ -332,7 +320,7 @@ func TestAnyProgramMayBeRun(t *testing.T) {
 			b += "."
 		}
 		n = n*1664525 + 1013904223
-		p := load(t, b)
+		p := sample.Load(t, b)
 		c, err := Compile(p)
 		if err != api.OK || c.Check() != api.OK || len(c.Entry) != len(graph.Preds(p)) {
 			t.Fatal(b, err)

@@ -2,16 +2,13 @@ package emu
 
 import (
 	"reflect"
-	"strconv"
 	"strings"
 	"testing"
 
 	"resolvent/api"
 	"resolvent/code"
 	"resolvent/compile"
-	"resolvent/norm"
-	"resolvent/parse"
-	"resolvent/program"
+	"resolvent/sample"
 	"resolvent/sld"
 	"resolvent/term"
 	"resolvent/write"
@@ -19,52 +16,13 @@ import (
 
 var roomy = Limits{Fuel: 1000000, Heap: 1 << 18, Trail: 1 << 18, Choices: 1 << 18, Frames: 1 << 18}
 
-func load(t *testing.T, text string) api.Program {
-	p, at, err := program.Read(text)
-	if err == api.OK {
-		p, at, err = norm.Normal(p)
-	}
-	if err != api.OK {
-		t.Fatal(text, at, err)
-	}
-	return p
-}
-
 func compiled(t *testing.T, text string) code.Code {
-	c, err := compile.Compile(load(t, text))
+	c, err := compile.Compile(sample.Load(t, text))
 	if err != api.OK {
 		t.Fatal(text, err)
 	}
 	return c
 }
-
-func query(t *testing.T, text string) api.Term {
-	l, at, err := parse.Terms(text + " .")
-	if err != api.OK {
-		t.Fatal(text, at, err)
-	}
-	return l[0].T
-}
-
-// told tells events in a line.
-func told(l []api.Event) string {
-	var r []string
-	for _, e := range l {
-		var terms []string
-		for _, x := range e.Terms {
-			terms = append(terms, write.Text(x))
-		}
-		switch e.Kind {
-		case api.EvAnswer:
-			r = append(r, "yes("+strings.Join(terms, ",")+")")
-		default:
-			r = append(r, map[uint8]string{api.EvEnd: "no", api.EvError: e.Code.Error(), api.EvFuel: "fuel", api.EvFull: "full"}[e.Kind])
-		}
-	}
-	return strings.Join(r, "; ")
-}
-
-const app = "app([],L,L). app([X|A],B,[X|C]):-app(A,B,C). "
 
 func TestRun(t *testing.T) {
 	for _, c := range [][3]string{
@@ -75,8 +33,8 @@ func TestRun(t *testing.T) {
 		{"p(f(X,g(Y,1)),X,Y).", "p(f(A,B),C,a)", "yes(_0,g(a,1),_0); no"},
 		{"p(f(X,g(Y,1)),X,Y).", "p(A,B,C)", "yes(f(_0,g(_1,1)),_0,_1); no"},
 		{"p(f(X,X)).", "p(f(A,g(A)))", "no"},
-		{app, "app(X,Y,[1,2])", "yes([],[1,2]); yes([1],[2]); yes([1,2],[]); no"},
-		{app, "app([1],[2],X)", "yes([1,2]); no"},
+		{sample.App, "app(X,Y,[1,2])", "yes([],[1,2]); yes([1],[2]); yes([1,2],[]); no"},
+		{sample.App, "app([1],[2],X)", "yes([1,2]); no"},
 		{"p(X,Y):-q(X),!,q(Y). p(9,9). q(1). q(2).", "p(X,Y)", "yes(1,1); yes(1,2); no"},
 		{"p(X):-q(X),r. p(9). q(1). q(2). r:-!. r.", "p(X)", "yes(1); yes(2); yes(9); no"},
 		{"p(X):-(q->X=1;X=2). p(3). q. q.", "p(X)", "yes(1); yes(3); no"},
@@ -101,14 +59,14 @@ func TestRun(t *testing.T) {
 		{"p(X):-X\\=f(X). p(X):-f(X)\\=f(X).", "p(X)", "yes(_0); no"},
 		{"n(0). n(X):-n(Y),X is Y+1. p(X):-n(X),X > 30,!.", "p(X)", "yes(31); no"},
 	} {
-		r, err := Run(compiled(t, c[0]), query(t, c[1]), roomy)
-		if err != api.OK || told(r.Events) != c[2] {
-			t.Error(c[0], c[1], told(r.Events), err)
+		r, err := Run(compiled(t, c[0]), sample.Query(t, c[1]), roomy)
+		if err != api.OK || sample.Told(r.Events) != c[2] {
+			t.Error(c[0], c[1], sample.Told(r.Events), err)
 		}
 	}
-	r, _ := Run(compiled(t, "p:-p."), query(t, "p"), Limits{Fuel: 10, Heap: 1, Frames: 1})
-	if told(r.Events) != "fuel" || r.Steps != 10 || r.Trail != 0 {
-		t.Error("no more fuel", told(r.Events), r.Steps)
+	r, _ := Run(compiled(t, "p:-p."), sample.Query(t, "p"), Limits{Fuel: 10, Heap: 1, Frames: 1})
+	if sample.Told(r.Events) != "fuel" || r.Steps != 10 || r.Trail != 0 {
+		t.Error("no more fuel", sample.Told(r.Events), r.Steps)
 	}
 }
 
@@ -135,11 +93,11 @@ func TestSpecialOperations(t *testing.T) {
 		{[]code.Instr{{Op: code.OpBuiltin, Name: "foo", N: 1}}, "p(X)", "error 1"}, {[]code.Instr{{Op: code.OpBuiltin, Name: "is", N: 3}}, "p(X)", "error 1"},
 	} {
 		cd := code.Code{Instrs: append([]code.Instr{{Op: code.OpAnswer}, {Op: code.OpFail}}, append(c.l, code.Instr{Op: code.OpProceed})...)}
-		q := query(t, c.q)
+		q := sample.Query(t, c.q)
 		cd.Entry = map[api.Pred]int{{Name: "p", Arity: len(q.Args)}: 2}
 		r, err := Run(cd, q, roomy)
-		if err != api.OK || told(r.Events) != c.want {
-			t.Error(i, told(r.Events), err)
+		if err != api.OK || sample.Told(r.Events) != c.want {
+			t.Error(i, sample.Told(r.Events), err)
 		}
 	}
 }
@@ -160,9 +118,9 @@ func TestWithoutWhatIsAsked(t *testing.T) {
 		{[]code.Instr{{Op: code.OpPutStruct, A: 5, Name: "f", N: 1}, {Op: code.OpUnifyVal, A: 5}, {Op: code.OpGetVal, A: 5, B: 0}}, "yes(f(_0)); no"},
 	} {
 		cd := code.Code{Instrs: append([]code.Instr{answer, {Op: code.OpFail}}, append(c.l, code.Instr{Op: code.OpProceed})...), Entry: map[api.Pred]int{{Name: "p", Arity: 1}: 2}}
-		r, err := Run(cd, query(t, "p(X)"), roomy)
-		if err != api.OK || told(r.Events) != c.want {
-			t.Error(i, told(r.Events), err)
+		r, err := Run(cd, sample.Query(t, "p(X)"), roomy)
+		if err != api.OK || sample.Told(r.Events) != c.want {
+			t.Error(i, sample.Told(r.Events), err)
 		}
 	}
 	// A register keeps what it refers to when the heap ends ahead of that: a reference to place 0.
@@ -172,15 +130,15 @@ func TestWithoutWhatIsAsked(t *testing.T) {
 		{Op: code.OpPutStruct, A: 5, Name: "f", N: 1}, {Op: code.OpUnifyConst, Kind: api.Atom, Name: "a"}, {Op: code.OpFail},
 		{Op: code.OpGetVal, A: 5, B: 0}, {Op: code.OpProceed},
 	}, Entry: map[api.Pred]int{{Name: "p", Arity: 1}: 2}}
-	if r, err := Run(stale, query(t, "p(X)"), roomy); err != api.OK || told(r.Events) != "yes(_0); no" {
-		t.Error("stale", told(r.Events), err)
+	if r, err := Run(stale, sample.Query(t, "p(X)"), roomy); err != api.OK || sample.Told(r.Events) != "yes(_0); no" {
+		t.Error("stale", sample.Told(r.Events), err)
 	}
 }
 
 func TestErrors(t *testing.T) {
 	good := compiled(t, "p(a).")
 	bad := code.Code{Instrs: []code.Instr{{Op: code.OpCut}}}
-	p, v := query(t, "p(a)"), term.V(0)
+	p, v := sample.Query(t, "p(a)"), term.V(0)
 	for i, c := range []struct {
 		c   code.Code
 		q   api.Term
@@ -231,8 +189,8 @@ func TestRoom(t *testing.T) {
 	} {
 		l := roomy
 		c.less(&l)
-		r, err := Run(compiled(t, c.text), query(t, c.q), l)
-		if got := told(r.Events); err != api.OK || got != c.want && !(c.want == "yes" && strings.HasPrefix(got, "yes(")) {
+		r, err := Run(compiled(t, c.text), sample.Query(t, c.q), l)
+		if got := sample.Told(r.Events); err != api.OK || got != c.want && !(c.want == "yes" && strings.HasPrefix(got, "yes(")) {
 			t.Error(i, got, err)
 		}
 	}
@@ -252,9 +210,9 @@ func TestStepsAndTrail(t *testing.T) {
 		{"p(X):-X\\=b,q. p(_). q.", "p(a)", -1, 0},     // nothing is bound by \=
 		{"p(X):-f(X)\\=f(b). p(_).", "p(X)", -1, 1},    // X is bound by \=, and put back
 	} {
-		r, err := Run(compiled(t, c.text), query(t, c.q), roomy)
+		r, err := Run(compiled(t, c.text), sample.Query(t, c.q), roomy)
 		if err != api.OK || r.Trail != c.trail || c.steps >= 0 && r.Steps != c.steps {
-			t.Error(c.text, c.q, r.Steps, r.Trail, told(r.Events))
+			t.Error(c.text, c.q, r.Steps, r.Trail, sample.Told(r.Events))
 		}
 	}
 }
@@ -288,7 +246,7 @@ func TestWorkOfOneInstruction(t *testing.T) {
 		{term.F("q", tree(2*api.MaxWork)), "yes(); no"},
 	} {
 		r, err := Run(c, x.q, roomy)
-		if got := told(r.Events); err != api.OK || got != x.want && !(x.want == "yes" && strings.HasPrefix(got, "yes(f(")) {
+		if got := sample.Told(r.Events); err != api.OK || got != x.want && !(x.want == "yes" && strings.HasPrefix(got, "yes(f(")) {
 			t.Error(i, got, err)
 		}
 	}
@@ -296,8 +254,8 @@ func TestWorkOfOneInstruction(t *testing.T) {
 	safe := code.Code{Instrs: []code.Instr{{Op: code.OpAnswer}, {Op: code.OpGetValSafe, A: 1}, {Op: code.OpProceed}}, Entry: map[api.Pred]int{{Name: "p", Arity: 2}: 1}}
 	for nodes, want := range map[int]string{api.MaxWork: "yes(f(", api.MaxWork + 1: "full"} {
 		r, err := Run(safe, term.F("p", term.V(0), tree(nodes)), roomy)
-		if err != api.OK || !strings.HasPrefix(told(r.Events), want) {
-			t.Error(nodes, told(r.Events)[:4], err)
+		if err != api.OK || !strings.HasPrefix(sample.Told(r.Events), want) {
+			t.Error(nodes, sample.Told(r.Events)[:4], err)
 		}
 	}
 }
@@ -308,15 +266,15 @@ func TestBuiltinsOfGreatTerms(t *testing.T) {
 		"X<1": "error 21", "Y is X": "error 21", "Y is X+Z": "error 21", "Y is Z+X": "error 20", "X==a": "full", "a==X": "full", "X @< a": "full", "X=X": "full", "X\\=X": "full",
 		"X=Y": "full", "compound(X)": "yes(); no", "var(X)": "no", "atom(X)": "no", "X=a": "no", "X\\=a": "yes(); no",
 	} {
-		p := load(t, great+goal+" .")
+		p := sample.Load(t, great+goal+" .")
 		c, _ := compile.Compile(p)
-		r, err := Run(c, query(t, "p"), roomy)
-		if got := told(r.Events); err != api.OK || got != want {
+		r, err := Run(c, sample.Query(t, "p"), roomy)
+		if got := sample.Told(r.Events); err != api.OK || got != want {
 			t.Error(goal, got, err)
 		}
-		l, _ := sld.Run(p, query(t, "p"), 1000)
+		l, _ := sld.Run(p, sample.Query(t, "p"), 1000)
 		if !agree(sld.Answers(l), r.Events) {
-			t.Error(goal, told(sld.Answers(l)))
+			t.Error(goal, sample.Told(sld.Answers(l)))
 		}
 	}
 }
@@ -338,75 +296,17 @@ func agree(a, b []api.Event) bool {
 	return isBeginning(a, b)
 }
 
-// next is a small generator of numbers: the tests are the same each time.
-type next uint32
-
-func (n *next) below(m int) int {
-	*n = *n*1664525 + 1013904223
-	return int(*n>>16) % m
-}
-
-func (n *next) term(depth int) string {
-	switch k := n.below(8); {
-	case k < 4:
-		return []string{"X", "Y", "Z"}[n.below(3)]
-	case k < 6 || depth == 0:
-		return []string{"a", "1", "[]", "b"}[n.below(4)]
-	case k == 6:
-		return "[" + n.term(depth-1) + "|" + n.term(depth-1) + "]"
-	}
-	return "f(" + n.term(depth-1) + "," + n.term(depth-1) + ")"
-}
-
-func (n *next) goal() string {
-	switch k := n.below(14); {
-	case k < 3:
-		return n.term(1) + "=" + n.term(2)
-	case k == 3:
-		return []string{"atom", "var", "nonvar", "compound", "integer", "atomic"}[n.below(6)] + "(" + n.term(0) + ")"
-	case k == 4:
-		return []string{"!", "X==Y", "X\\=f(Y,Z)", "Z is 1+1", "X=:=1", "X @< Y", "X\\==Y"}[n.below(7)]
-	case k == 5:
-		return "(" + n.goal() + "->" + n.goal() + ";" + n.goal() + ")"
-	case k == 6:
-		return "\\+ " + "(" + n.term(1) + "=" + n.term(1) + ")"
-	}
-	return "p" + strconv.Itoa(n.below(3)) + "(" + n.term(1) + "," + n.term(1) + ")"
-}
-
-func (n *next) program() string {
-	var b strings.Builder
-	for i := range 3 {
-		p := "p" + strconv.Itoa(i)
-		for range 1 + n.below(4) {
-			b.WriteString(p + "(" + n.term(2) + "," + n.term(2) + ")")
-			for j := range n.below(4) {
-				b.WriteString([]string{":-", ","}[min(j, 1)] + " " + n.goal())
-			}
-			b.WriteString(" .\n")
-		}
-		b.WriteString(p + "(" + n.term(1) + "," + n.term(1) + ").\n")
-	}
-	return b.String()
-}
-
 func TestAnswersAsTheSpecification(t *testing.T) {
-	n := next(1)
+	n := sample.Numbers(1)
 	answers, whole := 0, 0
 	for range 1500 {
-		text := n.program()
-		p, _, err := program.Read(text)
-		if err == api.OK {
-			p, _, err = norm.Normal(p)
-		}
-		if err != api.OK {
-			continue // a cut within control
-		}
+		text := n.Program()
+		p := sample.Load(t, text)
 		c, err := compile.Compile(p)
 		if err != api.OK {
 			t.Fatal(text, err)
 		}
-		q := query(t, "p0("+n.term(1)+","+n.term(1)+")")
+		q := sample.Query(t, n.Query())
 		const steps = 80
 		l, err := sld.Run(p, q, steps)
 		if err != api.OK {
@@ -417,10 +317,10 @@ func TestAnswersAsTheSpecification(t *testing.T) {
 		lim.Fuel = (steps + 2) * (2 + len(c.Instrs))
 		r, err := Run(c, q, lim)
 		if err != api.OK || !agree(want, r.Events) {
-			t.Fatalf("%s\n%s\n%s\n%s", text, write.Text(q), told(want), told(r.Events))
+			t.Fatalf("%s\n%s\n%s\n%s", text, write.Text(q), sample.Told(want), sample.Told(r.Events))
 		}
 		if len(r.Events) < len(want) {
-			t.Fatal("it has less than the steps have", text, told(want), told(r.Events))
+			t.Fatal("it has less than the steps have", text, sample.Told(want), sample.Told(r.Events))
 		}
 		answers += len(want) - 1
 		if want[len(want)-1].Kind != api.EvFuel {
@@ -433,90 +333,83 @@ func TestAnswersAsTheSpecification(t *testing.T) {
 }
 
 func TestMoreTakesNothingAway(t *testing.T) {
-	n := next(2)
+	n := sample.Numbers(2)
 	for range 300 {
-		p, _, err := program.Read(n.program())
-		if err == api.OK {
-			p, _, err = norm.Normal(p)
-		}
-		if err != api.OK {
-			continue
-		}
-		c, _ := compile.Compile(p)
-		q := query(t, "p0("+n.term(1)+","+n.term(1)+")")
-		less := Limits{Fuel: n.below(300), Heap: n.below(60), Trail: n.below(20), Choices: n.below(12), Frames: n.below(12)}
-		more := Limits{Fuel: less.Fuel + n.below(300), Heap: less.Heap + n.below(60), Trail: less.Trail + n.below(20), Choices: less.Choices + n.below(12), Frames: less.Frames + n.below(12)}
+		c := compiled(t, n.Program())
+		q := sample.Query(t, n.Query())
+		less := Limits{Fuel: n.Below(300), Heap: n.Below(60), Trail: n.Below(20), Choices: n.Below(12), Frames: n.Below(12)}
+		more := Limits{Fuel: less.Fuel + n.Below(300), Heap: less.Heap + n.Below(60), Trail: less.Trail + n.Below(20), Choices: less.Choices + n.Below(12), Frames: less.Frames + n.Below(12)}
 		a, _ := Run(c, q, less)
 		b, _ := Run(c, q, more)
 		if !isBeginning(a.Events, b.Events) || a.Steps > b.Steps {
-			t.Fatal(told(a.Events), told(b.Events))
+			t.Fatal(sample.Told(a.Events), sample.Told(b.Events))
 		}
 		for i, e := range a.Events {
 			if (e.Kind != api.EvAnswer) != (i == len(a.Events)-1) {
-				t.Fatal("the last event, and no other", told(a.Events))
+				t.Fatal("the last event, and no other", sample.Told(a.Events))
 			}
 		}
 	}
 }
 
-// code is some code that may be run, whatever it does.
-func (n *next) code(size int) code.Code {
+// anyCode is some code that may be run, whatever it does.
+func anyCode(n *sample.Numbers, size int) code.Code {
 	var l []code.Instr
-	register := func() int { return n.below(8) - 3 }
+	register := func() int { return n.Below(8) - 3 }
 	names := []string{"f", "g"}
 	kind := func() code.Instr {
-		return code.Instr{Kind: uint8(2 + n.below(2)), Name: "a", N: int64(n.below(2))}
+		return code.Instr{Kind: uint8(2 + n.Below(2)), Name: "a", N: int64(n.Below(2))}
 	}
 	for len(l) < size-1 {
 		i := kind()
-		i.Op = code.Op(1 + n.below(int(code.OpUnifyValSafe)))
+		i.Op = code.Op(1 + n.Below(int(code.OpUnifyValSafe)))
 		switch i.Op {
 		case code.OpAllocate:
-			i.A = n.below(4)
+			i.A = n.Below(4)
 		case code.OpCall, code.OpExecute, code.OpTry, code.OpRetry, code.OpTrust:
-			i.A, i.B, i.N = n.below(size), n.below(4), 1
+			i.A, i.B, i.N = n.Below(size), n.Below(4), 1
 		case code.OpBuiltin:
-			b := [][2]string{{"=", "2"}, {"\\=", "2"}, {"is", "2"}, {"==", "2"}, {"var", "1"}, {"true", "0"}, {"nothing", "3"}, {"<", "2"}, {"compound", "1"}}[n.below(9)]
+			b := [][2]string{{"=", "2"}, {"\\=", "2"}, {"is", "2"}, {"==", "2"}, {"var", "1"}, {"true", "0"}, {"nothing", "3"}, {"<", "2"}, {"compound", "1"}}[n.Below(9)]
 			i.Name, i.N = b[0], int64(b[1][0]-'0')
 		case code.OpSwitch, code.OpSwitchBound:
-			i.A = n.below(size)
-			i.Cases = []code.Case{{Kind: api.Int, To: n.below(size)}, {Kind: api.Atom, Name: "a", To: n.below(size)}, {Kind: api.Struct, Name: "f", N: 2, To: n.below(size)}}
+			i.A = n.Below(size)
+			i.Cases = []code.Case{{Kind: api.Int, To: n.Below(size)}, {Kind: api.Atom, Name: "a", To: n.Below(size)}, {Kind: api.Struct, Name: "f", N: 2, To: n.Below(size)}}
 		case code.OpUnifyVar, code.OpUnifyVal, code.OpUnifyConst, code.OpUnifyValSafe:
 			continue
 		case code.OpGetStruct, code.OpPutStruct, code.OpGetStructRead, code.OpGetStructWrite:
-			i.Name, i.N, i.A, i.B = names[n.below(2)], int64(1+n.below(2)), n.below(5), n.below(5)
+			i.Name, i.N, i.A, i.B = names[n.Below(2)], int64(1+n.Below(2)), n.Below(5), n.Below(5)
 			l = append(l, i)
 			for range i.N {
 				u := kind()
-				u.Op = []code.Op{code.OpUnifyVar, code.OpUnifyVal, code.OpUnifyConst, code.OpUnifyValSafe}[n.below(4)]
+				u.Op = []code.Op{code.OpUnifyVar, code.OpUnifyVal, code.OpUnifyConst, code.OpUnifyValSafe}[n.Below(4)]
 				u.A = register()
 				l = append(l, u)
 			}
 			continue
 		default:
-			i.A, i.B = register(), n.below(5)
+			i.A, i.B = register(), n.Below(5)
 		}
 		l = append(l, i)
 	}
 	l = append(l[:min(len(l), size+1)], code.Instr{Op: code.OpProceed})
-	return code.Code{Instrs: l, Entry: map[api.Pred]int{{Name: "p", Arity: 2}: n.below(size)}}
+	return code.Code{Instrs: l, Entry: map[api.Pred]int{{Name: "p", Arity: 2}: n.Below(size)}}
 }
 
 func TestAnyCodeEnds(t *testing.T) {
-	n := next(3)
+	n := sample.Numbers(3)
 	ran, kinds := 0, map[uint8]int{}
 	for range 20000 {
-		c := n.code(6 + n.below(14))
+		c := anyCode(&n, 6+n.Below(14))
 		if c.Check() != api.OK {
 			continue
 		}
 		ran++
-		q := query(t, "p("+n.term(1)+","+n.term(1)+")")
-		less := Limits{Fuel: n.below(200), Heap: n.below(100), Trail: n.below(20), Choices: n.below(20), Frames: n.below(20)}
+		q := sample.Query(t, "p("+n.Term(1)+","+n.Term(1)+")")
+		less := Limits{Fuel: n.Below(200), Heap: n.Below(100), Trail: n.Below(20), Choices: n.Below(20), Frames: n.Below(20)}
 		a, err := Run(c, q, less)
 		b, _ := Run(c, q, Limits{Fuel: 400, Heap: 1000, Trail: 1000, Choices: 1000, Frames: 1000})
 		if err != api.OK || !isBeginning(a.Events, b.Events) {
-			t.Fatal(err, told(a.Events), told(b.Events))
+			t.Fatal(err, sample.Told(a.Events), sample.Told(b.Events))
 		}
 		for _, e := range b.Events {
 			kinds[e.Kind]++

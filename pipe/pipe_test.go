@@ -2,7 +2,6 @@ package pipe
 
 import (
 	"reflect"
-	"strconv"
 	"strings"
 	"testing"
 
@@ -13,6 +12,7 @@ import (
 	"resolvent/norm"
 	"resolvent/parse"
 	"resolvent/program"
+	"resolvent/sample"
 	"resolvent/sld"
 	"resolvent/term"
 )
@@ -27,16 +27,14 @@ func load(t *testing.T, text string) *System {
 	return s
 }
 
-const app = "app([],L,L). app([X|A],B,[X|C]):-app(A,B,C). "
-
 func TestAsk(t *testing.T) {
 	for _, c := range [][3]string{
 		{"p(a). p(X):-X=b. :-entry(p(any)).", "p(X).", "yes a\nyes b\nno\n"},
 		{"p(X):-X is 1//0. :-entry(p(any)).", "p(X).", "error 23\n"},
 		{"p. :-entry(p).", "p.", "yes \nno\n"},
 		{"p(f(X),'a b',[X,Y|Y],-3). :-entry(p(any,any,any,any)).", "p(A,B,C,D).", "yes f(_0),'a b',[_0,_1|_1],-3\nno\n"},
-		{app + ":-entry(app(ground,ground,free)).", "app([1],[2],X).", "yes [1,2]\nno\n"},
-		{app + ":-entry(app(any,any,any)).", " app(X, Y, [1,2]) . % all", "yes [],[1,2]\nyes [1],[2]\nyes [1,2],[]\nno\n"},
+		{sample.App + ":-entry(app(ground,ground,free)).", "app([1],[2],X).", "yes [1,2]\nno\n"},
+		{sample.App + ":-entry(app(any,any,any)).", " app(X, Y, [1,2]) . % all", "yes [],[1,2]\nyes [1],[2]\nyes [1,2],[]\nno\n"},
 		{"p(X):-(X=1;\\+ X=2). :-entry(p(integer)).", "p(1).", "yes \nyes \nno\n"},
 		{"p(X):-p(X). :-entry(p(any)).", "p(a).", "fuel\n"},
 	} {
@@ -134,60 +132,6 @@ func TestWhatItHas(t *testing.T) {
 	}
 }
 
-// next is a small generator of numbers: the tests are the same each time.
-type next uint32
-
-func (n *next) below(m int) int {
-	*n = *n*1664525 + 1013904223
-	return int(*n>>16) % m
-}
-
-func (n *next) term(depth int) string {
-	switch k := n.below(8); {
-	case k < 4:
-		return []string{"X", "Y", "Z"}[n.below(3)]
-	case k < 6 || depth == 0:
-		return []string{"a", "1", "[]", "b"}[n.below(4)]
-	case k == 6:
-		return "[" + n.term(depth-1) + "|" + n.term(depth-1) + "]"
-	}
-	return "f(" + n.term(depth-1) + "," + n.term(depth-1) + ")"
-}
-
-func (n *next) goal() string {
-	switch k := n.below(14); {
-	case k < 3:
-		return n.term(1) + "=" + n.term(2)
-	case k == 3:
-		return []string{"atom", "var", "nonvar", "compound", "integer", "atomic"}[n.below(6)] + "(" + n.term(0) + ")"
-	case k == 4:
-		return []string{"!", "X==Y", "X\\=f(Y,Z)", "Z is 1+1", "X=:=1", "X @< Y", "X\\==Y"}[n.below(7)]
-	case k == 5:
-		return "(" + n.goal() + "-> " + n.goal() + ";" + n.goal() + ")"
-	case k == 6:
-		return "\\+ (" + n.goal() + ")"
-	}
-	return "p" + strconv.Itoa(n.below(3)) + "(" + n.term(1) + "," + n.term(1) + ")"
-}
-
-func (n *next) program() string {
-	modes := []string{"any", "ground", "free", "integer", "atom"}
-	var b strings.Builder
-	for i := range 3 {
-		p := "p" + strconv.Itoa(i)
-		for range 1 + n.below(3) {
-			b.WriteString(p + "(" + n.term(2) + "," + n.term(2) + ")")
-			for j := range n.below(4) {
-				b.WriteString([]string{":-", ","}[min(j, 1)] + " " + n.goal())
-			}
-			b.WriteString(" .\n")
-		}
-		b.WriteString(p + "(" + n.term(1) + "," + n.term(1) + ").\n")
-	}
-	b.WriteString(":-entry(p0(" + modes[n.below(5)] + "," + modes[n.below(5)] + ")).\n")
-	return b.String()
-}
-
 // agree tells whether of two ways' lines the one's, without the last one, are a beginning of the other's.
 func agree(a, b string) bool {
 	l, m := strings.SplitAfter(a, "\n"), strings.SplitAfter(b, "\n")
@@ -196,20 +140,17 @@ func agree(a, b string) bool {
 }
 
 func TestAllWaysAgree(t *testing.T) {
-	n := next(5)
+	n := sample.Numbers(5)
 	asked, events := 0, 0
 	for range 200 {
-		text := n.program()
+		text := n.Program()
 		s, at, err := Load(text, 0)
-		if err == api.ErrCut {
-			continue
-		}
 		if err != api.OK || !s.Table().Stable() {
 			t.Fatal(text, at, err)
 		}
 		for range 10 {
-			question := "p0(" + n.term(1) + "," + n.term(1) + ")."
-			l := emu.Limits{Fuel: 10 + n.below(500), Heap: 20 + n.below(3000), Trail: n.below(500), Choices: n.below(200), Frames: n.below(200)}
+			question := n.Query() + "."
+			l := emu.Limits{Fuel: 10 + n.Below(500), Heap: 20 + n.Below(3000), Trail: n.Below(500), Choices: n.Below(200), Frames: n.Below(200)}
 			spec, _, err := s.Ask(Spec, question, l)
 			plain, _, err2 := s.Ask(Plain, question, l)
 			if err != api.OK || err2 != api.OK || !agree(spec, plain) {
@@ -261,22 +202,22 @@ func isSound(t *testing.T, s *System, q api.Term) int {
 
 func TestAnyTextsEnd(t *testing.T) {
 	words := []string{"p", "q(X)", "(", ")", "[", "]", "|", ",", ". ", " :- ", ":-entry(p).", "1", "=", ";", "->", "\\+ ", "!", "f(", "'q'", " is ", "X", "'", "{", "%\n", "\x00", "true", "p. ", "q(a). "}
-	n := next(6)
+	n := sample.Numbers(6)
 	loaded := 0
 	for range 4000 {
 		var b strings.Builder
-		for range n.below(25) {
-			b.WriteString(words[n.below(len(words))])
-			if n.below(2) == 0 {
-				b.WriteString([]string{" p. ", " q(X):-p,X=f(Y). ", " p:- \\+ q(a). "}[n.below(3)])
+		for range n.Below(25) {
+			b.WriteString(words[n.Below(len(words))])
+			if n.Below(2) == 0 {
+				b.WriteString([]string{" p. ", " q(X):-p,X=f(Y). ", " p:- \\+ q(a). "}[n.Below(3)])
 			}
 		}
-		if n.below(4) == 0 {
+		if n.Below(4) == 0 {
 			b.Reset()
-			b.WriteString("p:-(q(X);X=1). " + words[n.below(len(words))] + words[n.below(len(words))])
+			b.WriteString("p:-(q(X);X=1). " + words[n.Below(len(words))] + words[n.Below(len(words))])
 		}
-		b.WriteString([]string{" .", "", " . p. q(_). :-entry(p)."}[n.below(3)])
-		s, at, err := Load(b.String(), n.below(3)-1)
+		b.WriteString([]string{" .", "", " . p. q(_). :-entry(p)."}[n.Below(3)])
+		s, at, err := Load(b.String(), n.Below(3)-1)
 		if (err == api.OK) != (s != nil) || err == api.OK && at != 0 {
 			t.Fatalf("%q %d %d", b.String(), at, err)
 		}
@@ -285,7 +226,7 @@ func TestAnyTextsEnd(t *testing.T) {
 		}
 		for way := range 4 {
 			for _, question := range []string{b.String(), "p.", "q(X)."} {
-				got, _, err := s.Ask(way, question, emu.Limits{Fuel: n.below(300), Heap: n.below(100), Trail: n.below(9), Choices: n.below(9), Frames: n.below(9)})
+				got, _, err := s.Ask(way, question, emu.Limits{Fuel: n.Below(300), Heap: n.Below(100), Trail: n.Below(9), Choices: n.Below(9), Frames: n.Below(9)})
 				if err == api.OK && !strings.HasSuffix(got, "\n") || err != api.OK && got != "" {
 					t.Fatalf("%q %q %d", b.String(), got, err)
 				}

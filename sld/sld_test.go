@@ -2,63 +2,12 @@ package sld
 
 import (
 	"reflect"
-	"strconv"
-	"strings"
 	"testing"
 
 	"resolvent/api"
-	"resolvent/norm"
-	"resolvent/parse"
-	"resolvent/program"
+	"resolvent/sample"
 	"resolvent/term"
-	"resolvent/write"
 )
-
-func load(t *testing.T, text string) api.Program {
-	p, at, err := program.Read(text)
-	if err == api.OK {
-		p, at, err = norm.Normal(p)
-	}
-	if err != api.OK {
-		t.Fatal(text, at, err)
-	}
-	return p
-}
-
-func query(t *testing.T, text string) api.Term {
-	l, at, err := parse.Terms(text + " .")
-	if err != api.OK || len(l) != 1 {
-		t.Fatal(text, at, err)
-	}
-	return l[0].T
-}
-
-// told tells events in a line.
-func told(l []api.Event) string {
-	var r []string
-	for _, e := range l {
-		var terms []string
-		for _, x := range e.Terms {
-			terms = append(terms, write.Text(x))
-		}
-		args := "(" + strings.Join(terms, ",") + ")"
-		switch e.Kind {
-		case api.EvCall:
-			r = append(r, "call "+e.P.Name+args)
-		case api.EvExit:
-			r = append(r, "exit "+e.P.Name+args)
-		case api.EvPoint:
-			r = append(r, "at "+strconv.Itoa(e.Clause)+" "+strconv.Itoa(e.Goal)+args)
-		case api.EvAnswer:
-			r = append(r, "yes"+args)
-		default:
-			r = append(r, map[uint8]string{api.EvEnd: "no", api.EvError: e.Code.Error(), api.EvFuel: "fuel", api.EvFull: "full"}[e.Kind])
-		}
-	}
-	return strings.Join(r, "; ")
-}
-
-const app = "app([],L,L). app([X|A],B,[X|C]):-app(A,B,C). "
 
 func TestAnswers(t *testing.T) {
 	for _, c := range [][3]string{
@@ -70,8 +19,8 @@ func TestAnswers(t *testing.T) {
 		{"p(X,f(X)).", "p(A,B)", "yes(_0,f(_0)); no"},
 		{"p(X,Y,X).", "p(B,A,C)", "yes(_0,_1,_0); no"},
 		{"p.", "p", "yes(); no"},
-		{app, "app(X,Y,[1,2])", "yes([],[1,2]); yes([1],[2]); yes([1,2],[]); no"},
-		{app, "app([1],[2],X)", "yes([1,2]); no"},
+		{sample.App, "app(X,Y,[1,2])", "yes([],[1,2]); yes([1],[2]); yes([1,2],[]); no"},
+		{sample.App, "app([1],[2],X)", "yes([1,2]); no"},
 		{"p(X):-q(X),r(X). q(1). q(2). q(3). r(2). r(3).", "p(X)", "yes(2); yes(3); no"},
 		{"p(X,Y):-q(X),!,q(Y). p(9,9). q(1). q(2).", "p(X,Y)", "yes(1,1); yes(1,2); no"},
 		{"p(X):-q(X),r. p(9). q(1). q(2). r:-!. r.", "p(X)", "yes(1); yes(2); yes(9); no"},
@@ -86,9 +35,9 @@ func TestAnswers(t *testing.T) {
 		{"p:-!. p:-p.", "p", "yes(); no"},
 		{"n(0). n(X):-n(Y),X is Y+1. p(X):-n(X),X > 3,!.", "p(X)", "yes(4); no"},
 	} {
-		l, err := Run(load(t, c[0]), query(t, c[1]), 1000)
-		if err != api.OK || told(Answers(l)) != c[2] {
-			t.Error(c[0], c[1], told(Answers(l)), err)
+		l, err := Run(sample.Load(t, c[0]), sample.Query(t, c[1]), 1000)
+		if err != api.OK || sample.Told(Answers(l)) != c[2] {
+			t.Error(c[0], c[1], sample.Told(Answers(l)), err)
 		}
 	}
 }
@@ -102,12 +51,12 @@ func TestEvents(t *testing.T) {
 		{"p(X,X). ", "p(A,f(B))", "call p(_0,f(_1)); exit p(f(_0),f(_0)); yes(f(_0),_0); no"},
 		{"p:-X is Y.", "p", "call p(); at 0 0(_0,_1); error 20"},
 	} {
-		l, err := Run(load(t, c[0]), query(t, c[1]), 1000)
-		if err != api.OK || told(l) != c[2] {
-			t.Error(c[0], c[1], told(l), err)
+		l, err := Run(sample.Load(t, c[0]), sample.Query(t, c[1]), 1000)
+		if err != api.OK || sample.Told(l) != c[2] {
+			t.Error(c[0], c[1], sample.Told(l), err)
 		}
 	}
-	l, _ := Run(load(t, "p(X,Y):-q(Y). q(_):-X=Y,1 is Z. "), query(t, "p(A,B)"), 9)
+	l, _ := Run(sample.Load(t, "p(X,Y):-q(Y). q(_):-X=Y,1 is Z. "), sample.Query(t, "p(A,B)"), 9)
 	for i, want := range []api.Event{
 		{Kind: api.EvCall, P: api.Pred{Name: "p", Arity: 2}, Terms: []api.Term{term.V(0), term.V(1)}},
 		{Kind: api.EvPoint, Terms: []api.Term{term.V(0), term.V(1)}},
@@ -123,7 +72,7 @@ func TestEvents(t *testing.T) {
 }
 
 func TestFuel(t *testing.T) {
-	p, q := load(t, "p(X):-q(X),X \\== a,!. p(z):-true. q(a). q(b). q(c)."), query(t, "p(X)")
+	p, q := sample.Load(t, "p(X):-q(X),X \\== a,!. p(z):-true. q(a). q(b). q(c)."), sample.Query(t, "p(X)")
 	whole, _ := Run(p, q, 1000)
 	last := -1
 	for fuel := range 20 {
@@ -140,18 +89,18 @@ func TestFuel(t *testing.T) {
 		last = fuel
 		n := len(l) - 1
 		if l[n].Kind != api.EvFuel || !reflect.DeepEqual(l[:n], whole[:n]) {
-			t.Error("fuel", fuel, told(l))
+			t.Error("fuel", fuel, sample.Told(l))
 		}
 	}
 	// p's clause; q's clauses a, b, each with its test; the cut; the answer.
 	if last != 6 {
 		t.Error("steps", last)
 	}
-	if l, _ := Run(load(t, "p."), query(t, "p"), 0); told(l) != "call p(); fuel" {
-		t.Error("no fuel at all", told(l))
+	if l, _ := Run(sample.Load(t, "p."), sample.Query(t, "p"), 0); sample.Told(l) != "call p(); fuel" {
+		t.Error("no fuel at all", sample.Told(l))
 	}
-	if l, _ := Run(load(t, "p."), query(t, "p"), 1); told(l) != "call p(); exit p(); fuel" {
-		t.Error("fuel for one step", told(l))
+	if l, _ := Run(sample.Load(t, "p."), sample.Query(t, "p"), 1); sample.Told(l) != "call p(); exit p(); fuel" {
+		t.Error("fuel for one step", sample.Told(l))
 	}
 }
 
@@ -161,17 +110,17 @@ func TestFull(t *testing.T) {
 		{"p(X):-p(f(X,X)).", "p(a)", "full"},
 		{"d(X,f(X,X)). p(R):-d(a,A),d(A,B),d(B,C),d(C,D),d(D,E),d(E,F),d(F,G),d(G,H),d(H,I),d(I,J),d(J,K),d(K,R).", "p(A)", "full"},
 	} {
-		l, err := Run(load(t, c[0]), query(t, c[1]), 5000)
-		if err != api.OK || told(Answers(l)) != c[2] {
-			t.Error(c[0], told(Answers(l)), err)
+		l, err := Run(sample.Load(t, c[0]), sample.Query(t, c[1]), 5000)
+		if err != api.OK || sample.Told(Answers(l)) != c[2] {
+			t.Error(c[0], sample.Told(Answers(l)), err)
 		}
 	}
 	// A builtin's work is too much, though its point can be told.
 	const ten = "d(X,f(X,X)). t(J):-d(a,A),d(A,B),d(B,C),d(C,D),d(D,E),d(E,F),d(F,G),d(G,H),d(H,I),d(I,J). p:-t(X),t(Y),f(X,X,c(b))="
 	for _, c := range [][2]string{{"f(Y,Y,c(b)).", "full"}, {"f(Y,X,c(b)).", "full"}, {"f(Y,b,X).", "no"}, {"g(Y,Y).", "no"}} {
-		l, _ := Run(load(t, ten+c[0]), query(t, "p"), 100)
-		if told(Answers(l)) != c[1] || l[len(l)-2].Kind != api.EvPoint && c[1] == "full" {
-			t.Error("a builtin", c[0], told(Answers(l)))
+		l, _ := Run(sample.Load(t, ten+c[0]), sample.Query(t, "p"), 100)
+		if sample.Told(Answers(l)) != c[1] || l[len(l)-2].Kind != api.EvPoint && c[1] == "full" {
+			t.Error("a builtin", c[0], sample.Told(Answers(l)))
 		}
 	}
 }
@@ -179,16 +128,16 @@ func TestFull(t *testing.T) {
 func TestFullHead(t *testing.T) {
 	const ten = "d(X,f(X,X)). t(J):-d(a,A),d(A,B),d(B,C),d(C,D),d(D,E),d(E,F),d(F,G),d(G,H),d(H,I),d(I,J). "
 	for head, want := range map[string]string{"q(X,X,c)": "no", "q(X,X,_)": "full", "q(_,b,_)": "no"} {
-		l, err := Run(load(t, ten+"p:-t(A),t(B),t(C),q(A,B,C). "+head+"."), query(t, "p"), 100)
-		if err != api.OK || told(Answers(l)) != want || want == "full" && l[len(l)-2].Kind != api.EvCall {
-			t.Error(head, told(Answers(l)))
+		l, err := Run(sample.Load(t, ten+"p:-t(A),t(B),t(C),q(A,B,C). "+head+"."), sample.Query(t, "p"), 100)
+		if err != api.OK || sample.Told(Answers(l)) != want || want == "full" && l[len(l)-2].Kind != api.EvCall {
+			t.Error(head, sample.Told(Answers(l)))
 		}
 	}
 }
 
 func TestErrors(t *testing.T) {
-	p := load(t, "p(a). q.")
-	bad := load(t, "p(a):-q.")
+	p := sample.Load(t, "p(a). q.")
+	bad := sample.Load(t, "p(a):-q.")
 	for i, c := range []struct {
 		p    api.Program
 		q    api.Term
@@ -220,18 +169,18 @@ func TestErrors(t *testing.T) {
 
 func TestTheLastEventAlone(t *testing.T) {
 	for _, text := range []string{"p(X):-q(X). q(1). q(2).", "p(X):-p(X).", "p(X):-X is a.", "p(X):-p(f(X,X))."} {
-		l, _ := Run(load(t, text), query(t, "p(X)"), 200)
+		l, _ := Run(sample.Load(t, text), sample.Query(t, "p(X)"), 200)
 		for i, e := range l {
 			isEnd := e.Kind == api.EvEnd || e.Kind == api.EvError || e.Kind == api.EvFuel || e.Kind == api.EvFull
 			if isEnd != (i == len(l)-1) {
-				t.Error(text, told(l))
+				t.Error(text, sample.Told(l))
 			}
 		}
 	}
 }
 
 func TestAnswersAreAnsweredAgain(t *testing.T) {
-	p, q := load(t, app), query(t, "app(X,[Y|Z],[1,W,3])")
+	p, q := sample.Load(t, sample.App), sample.Query(t, "app(X,[Y|Z],[1,W,3])")
 	l, _ := Run(p, q, 1000)
 	vars := term.Vars(q)
 	count := 0
@@ -258,11 +207,11 @@ func TestAnswersAreAnsweredAgain(t *testing.T) {
 		}
 		again, err := Run(p, with(q), 1000)
 		if a := Answers(again); err != api.OK || len(a) == 0 || a[0].Kind != api.EvAnswer {
-			t.Error("not answered again", told(again))
+			t.Error("not answered again", sample.Told(again))
 		}
 	}
 	if count != 3 {
-		t.Error("answers", told(Answers(l)))
+		t.Error("answers", sample.Told(Answers(l)))
 	}
 }
 
@@ -279,11 +228,11 @@ func TestAnswersOfAnyEvents(t *testing.T) {
 }
 
 func TestLongRunsEndSoon(t *testing.T) {
-	l, err := Run(load(t, "n(0). n(X):-n(Y),X is Y+1. p:-n(X),X > 30000. q(X,Y):-q(Y,Z)."), query(t, "q(A,B)"), 100000)
+	l, err := Run(sample.Load(t, "n(0). n(X):-n(Y),X is Y+1. p:-n(X),X > 30000. q(X,Y):-q(Y,Z)."), sample.Query(t, "q(A,B)"), 100000)
 	if err != api.OK || l[len(l)-1].Kind != api.EvFuel {
 		t.Error(err)
 	}
-	l, err = Run(load(t, "c(0). c(N):-N>0,M is N-1,c(M)."), query(t, "c(100000)"), 100000)
+	l, err = Run(sample.Load(t, "c(0). c(N):-N>0,M is N-1,c(M)."), sample.Query(t, "c(100000)"), 100000)
 	if err != api.OK || l[len(l)-1].Kind != api.EvFuel {
 		t.Error(err)
 	}

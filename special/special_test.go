@@ -2,7 +2,6 @@ package special
 
 import (
 	"reflect"
-	"strconv"
 	"strings"
 	"testing"
 
@@ -11,36 +10,15 @@ import (
 	"resolvent/compile"
 	"resolvent/desc"
 	"resolvent/emu"
-	"resolvent/norm"
-	"resolvent/parse"
-	"resolvent/program"
+	"resolvent/sample"
 	"resolvent/term"
 )
 
 var roomy = emu.Limits{Fuel: 20000, Heap: 1 << 16, Trail: 1 << 16, Choices: 1 << 16, Frames: 1 << 16}
 
-func load(t *testing.T, text string) api.Program {
-	p, at, err := program.Read(text)
-	if err == api.OK {
-		p, at, err = norm.Normal(p)
-	}
-	if err != api.OK {
-		t.Fatal(text, at, err)
-	}
-	return p
-}
-
-func query(t *testing.T, text string) api.Term {
-	l, at, err := parse.Terms(text + " .")
-	if err != api.OK {
-		t.Fatal(text, at, err)
-	}
-	return l[0].T
-}
-
 // both are a program's plain code and its special one.
 func both(t *testing.T, text string) (code.Code, code.Code, api.Program) {
-	p := load(t, text)
+	p := sample.Load(t, text)
 	plain, err := compile.Compile(p)
 	if err != api.OK {
 		t.Fatal(text, err)
@@ -78,13 +56,11 @@ func turned(t *testing.T, text string) string {
 	return strings.Join(l, " ")
 }
 
-const app = "app([],L,L). app([X|A],B,[X|C]):-app(A,B,C). "
-
 func TestCompile(t *testing.T) {
 	for text, want := range map[string]string{
-		app + ":-entry(app(ground,ground,free)).":                   "switch-bound const-read val-safe struct-read struct-write unify-safe",
-		app + ":-entry(app(any,any,any)).":                          "switch const val struct struct unify",
-		app + ":-entry(app(free,free,ground)).":                     "switch const val-safe struct struct-read unify",
+		sample.App + ":-entry(app(ground,ground,free)).":            "switch-bound const-read val-safe struct-read struct-write unify-safe",
+		sample.App + ":-entry(app(any,any,any)).":                   "switch const val struct struct unify",
+		sample.App + ":-entry(app(free,free,ground)).":              "switch const val-safe struct struct-read unify",
 		"p(a). p(b). :-entry(p(any)).":                              "switch const const",
 		"p(a). p(b). :-entry(p(free)).":                             "switch const-write const-write",
 		"p(a). p(b). :-entry(p(atom)).":                             "switch-bound const-read const-read",
@@ -110,13 +86,13 @@ func TestCompile(t *testing.T) {
 }
 
 func TestErrors(t *testing.T) {
-	p := load(t, "p(X):-q. q. :-entry(p(any)).")
+	p := sample.Load(t, "p(X):-q. q. :-entry(p(any)).")
 	for i, c := range []struct {
 		p   api.Program
 		e   api.Entry
 		err api.Errno
 	}{
-		{load(t, "p:-q."), api.Entry{Name: "p"}, api.ErrUndef}, {api.Program{Clauses: make([]api.Clause, 300)}, api.Entry{}, api.ErrLong},
+		{sample.Load(t, "p:-q."), api.Entry{Name: "p"}, api.ErrUndef}, {api.Program{Clauses: make([]api.Clause, 300)}, api.Entry{}, api.ErrLong},
 		{p, api.Entry{Name: "p"}, api.ErrUndef}, {p, api.Entry{Name: "p", Modes: []uint8{9}}, api.ErrArg}, {p, p.Entries[0], api.OK}, {p, api.Entry{Name: "q"}, api.OK},
 	} {
 		if cd, err := Compile(c.p, c.e); err != c.err || err != api.OK && (cd.Instrs != nil || cd.Entry != nil) {
@@ -147,12 +123,12 @@ func TestErrors(t *testing.T) {
 		{e, "p(a,X)", roomy, api.OK}, {e, "p(X,Y)", roomy, api.ErrPattern}, {e, "p(X,Y)", emu.Limits{Fuel: -1}, api.ErrPattern}, {e, "X", roomy, api.ErrForm}, {e, "q(a,X)", roomy, api.ErrPattern},
 		{api.Entry{Name: "p", Modes: []uint8{8}}, "p(a,X)", roomy, api.ErrArg}, {e, "p(a,X)", emu.Limits{Fuel: -1}, api.ErrArg}, {api.Entry{Name: "r"}, "r", roomy, api.ErrUndef},
 	} {
-		r, err := Run(special, c.e, query(t, c.q), c.l)
+		r, err := Run(special, c.e, sample.Query(t, c.q), c.l)
 		if err != c.err || err != api.OK && (r.Events != nil || r.Steps != 0) {
 			t.Error(i, err)
 		}
 	}
-	if _, err := Run(code.Code{}, e, query(t, "p(a,X)"), roomy); err != api.ErrCode {
+	if _, err := Run(code.Code{}, e, sample.Query(t, "p(a,X)"), roomy); err != api.ErrCode {
 		t.Error("emu's error", err)
 	}
 }
@@ -178,61 +154,11 @@ func agree(plain, special emu.Result) bool {
 	return !(ends(a) && len(b) > len(a)) && !(ends(b) && len(a) > len(b))
 }
 
-// next is a small generator of numbers: the tests are the same each time.
-type next uint32
-
-func (n *next) below(m int) int {
-	*n = *n*1664525 + 1013904223
-	return int(*n>>16) % m
-}
-
-func (n *next) term(depth int) string {
-	switch k := n.below(8); {
-	case k < 4:
-		return []string{"X", "Y", "Z"}[n.below(3)]
-	case k < 6 || depth == 0:
-		return []string{"a", "1", "[]", "b"}[n.below(4)]
-	case k == 6:
-		return "[" + n.term(depth-1) + "|" + n.term(depth-1) + "]"
-	}
-	return "f(" + n.term(depth-1) + "," + n.term(depth-1) + ")"
-}
-
-func (n *next) goal() string {
-	switch k := n.below(12); {
-	case k < 3:
-		return n.term(1) + "=" + n.term(2)
-	case k == 3:
-		return []string{"atom", "var", "nonvar", "compound", "integer", "atomic"}[n.below(6)] + "(" + n.term(0) + ")"
-	case k == 4:
-		return []string{"!", "X==Y", "X\\=f(Y,Z)", "Z is 1+1", "X=:=1", "X @< Y", "X\\==Y"}[n.below(7)]
-	}
-	return "p" + strconv.Itoa(n.below(3)) + "(" + n.term(1) + "," + n.term(1) + ")"
-}
-
-func (n *next) program() string {
-	modes := []string{"any", "ground", "free", "integer", "atom"}
-	var b strings.Builder
-	for i := range 3 {
-		p := "p" + strconv.Itoa(i)
-		for range 1 + n.below(3) {
-			b.WriteString(p + "(" + n.term(2) + "," + n.term(2) + ")")
-			for j := range n.below(4) {
-				b.WriteString([]string{":-", ","}[min(j, 1)] + " " + n.goal())
-			}
-			b.WriteString(" .\n")
-		}
-		b.WriteString(p + "(" + n.term(1) + "," + n.term(1) + ").\n")
-	}
-	b.WriteString(":-entry(p0(" + modes[n.below(5)] + "," + modes[n.below(5)] + ")).\n")
-	return b.String()
-}
-
 func TestAnsweredAsByThePlainOne(t *testing.T) {
-	n := next(1)
+	n := sample.Numbers(1)
 	within, specials := 0, 0
 	for range 700 {
-		text := n.program()
+		text := n.Program()
 		plain, special, p := both(t, text)
 		for _, i := range special.Instrs {
 			if i.Op > code.OpPutStruct {
@@ -241,7 +167,7 @@ func TestAnsweredAsByThePlainOne(t *testing.T) {
 		}
 		e := p.Entries[0]
 		for range 8 {
-			q := query(t, "p0("+n.term(1)+","+n.term(1)+")")
+			q := sample.Query(t, n.Query())
 			if !desc.Entry(e.Modes).In(q.Args) {
 				if r, err := Run(special, e, q, roomy); err != api.ErrPattern || r.Steps != 0 {
 					t.Fatal("outside of the entry", text, err)
@@ -251,7 +177,7 @@ func TestAnsweredAsByThePlainOne(t *testing.T) {
 			within++
 			limits := []emu.Limits{
 				{Fuel: 600, Heap: 4000, Trail: 4000, Choices: 4000, Frames: 4000},
-				{Fuel: n.below(100), Heap: n.below(50), Trail: n.below(20), Choices: n.below(10), Frames: n.below(10)},
+				{Fuel: n.Below(100), Heap: n.Below(50), Trail: n.Below(20), Choices: n.Below(10), Frames: n.Below(10)},
 			}
 			for _, l := range limits {
 				a, err := emu.Run(plain, q, l)
