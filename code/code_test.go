@@ -79,6 +79,7 @@ func TestFields(t *testing.T) {
 		{Op: OpAllocate, A: -1}, {Op: OpAllocate, A: 65}, {Op: OpCall, A: -1}, {Op: OpCall, A: 10}, {Op: OpCall, N: 17}, {Op: OpCall, N: -1}, {Op: OpExecute, A: 10}, {Op: OpExecute, N: 17},
 		{Op: OpBuiltin, N: 17}, {Op: OpBuiltin, N: -1}, {Op: OpTry, A: 10}, {Op: OpTry, B: 17}, {Op: OpTry, B: -1}, {Op: OpRetry, A: -1}, {Op: OpRetry, B: 17}, {Op: OpTrust, A: 10}, {Op: OpTrust, B: -1},
 		{Op: OpSwitch, A: -1}, {Op: OpSwitch, A: 10},
+		{Op: OpSwitchBound}, {Op: OpSwitchBound, A: 9}, {Op: OpSwitchBound, A: 10}, {Op: OpSwitchBound, A: -2}, {Op: OpSwitchBound, A: -1 << 62}, {Op: OpSwitchBound, A: 1, Cases: []Case{{Kind: api.Int, To: 9}}},
 		{Op: OpGetVar, A: 256}, {Op: OpGetVar, A: -65}, {Op: OpGetVar, B: -1}, {Op: OpGetVar, B: 256}, {Op: OpGetVal, A: 256}, {Op: OpGetVal, B: -1}, {Op: OpGetValSafe, A: -65}, {Op: OpGetValSafe, B: 256},
 		{Op: OpPutVar, A: 256}, {Op: OpPutVar, B: -1}, {Op: OpPutVal, A: -65}, {Op: OpPutVal, B: 256}, {Op: OpPutVal, A: 1 << 62},
 		{Op: OpGetConst, B: 0}, {Op: OpGetConst, Kind: api.Var}, {Op: OpGetConst, Kind: api.Struct}, atom(OpGetConst, -1), atom(OpGetConst, 256), atom(OpPutConst, -1), atom(OpGetConstRead, 256), atom(OpGetConstWrite, -1), {Op: OpPutConst, Kind: 77},
@@ -113,6 +114,22 @@ func TestCases(t *testing.T) {
 		}
 		if err := with(Instr{Op: OpSwitchBound, A: -1, Cases: c.cases}); err != c.want {
 			t.Error("switch bound", i, err)
+		}
+	}
+}
+
+func TestSwitchBoundHasNoPlaceOfAVariable(t *testing.T) {
+	f := []Instr{{Op: OpGetStruct, Name: "f", N: 2}, {Op: OpUnifyVar}, {Op: OpUnifyVar}}
+	for a, want := range map[int]api.Errno{-1: api.OK, 0: api.ErrCode, 1: api.ErrCode, 3: api.ErrCode, -2: api.ErrCode} {
+		last := Instr{Op: OpSwitchBound, A: a}
+		if err := check(last); err != want {
+			t.Error("alone", a, err)
+		}
+		if err := check(append(slices.Clone(f), last)...); err != want {
+			t.Error("behind a structure", a, err)
+		}
+		if err := check(last, proceed); err != want {
+			t.Error("ahead of another one", a, err)
 		}
 	}
 }

@@ -373,6 +373,9 @@ func anyCode(n *sample.Numbers, size int) code.Code {
 			i.Name, i.N = b[0], int64(b[1][0]-'0')
 		case code.OpSwitch, code.OpSwitchBound:
 			i.A = n.Below(size)
+			if i.Op == code.OpSwitchBound {
+				i.A = -1
+			}
 			i.Cases = []code.Case{{Kind: api.Int, To: n.Below(size)}, {Kind: api.Atom, Name: "a", To: n.Below(size)}, {Kind: api.Struct, Name: "f", N: 2, To: n.Below(size)}}
 		case code.OpUnifyVar, code.OpUnifyVal, code.OpUnifyConst, code.OpUnifyValSafe:
 			continue
