@@ -57,6 +57,8 @@ func short(i code.Instr) string {
 		return map[code.Op]string{code.OpGetVar: "getvar", code.OpGetVal: "getval", code.OpPutVar: "putvar", code.OpPutVal: "putval"}[i.Op] + " " + num(i.A) + " " + num(i.B)
 	case code.OpGetConst, code.OpPutConst:
 		return map[code.Op]string{code.OpGetConst: "getconst", code.OpPutConst: "putconst"}[i.Op] + " " + constant(i.Kind, i.Name, i.N) + " " + num(i.B)
+	case code.OpGetConstRead:
+		return "read " + constant(i.Kind, i.Name, i.N) + " " + num(i.B)
 	case code.OpUnifyConst:
 		return "const " + constant(i.Kind, i.Name, i.N)
 	case code.OpUnifyVar:
@@ -272,35 +274,111 @@ func TestWith(t *testing.T) {
 	}
 	plain, _ := Compile(p)
 	c, err := With(p, a)
-	if err != api.OK || c.Check() != api.OK || len(c.Instrs) != len(plain.Instrs) {
+	if err != api.OK || c.Check() != api.OK {
 		t.Fatal("With", err)
 	}
 	want := "00 getvar -1 0; 01 getstruct f/2 1; 01 var -2; 01 var 48; 01 getstruct g/1 48; 01 val -1; 02 getconst a 2; 10 getconst a 0; 11 getvar 16 1; 20 getconst b 0; 21 getvar 16 1; 30 getconst 1 0; 40 getconst 2 0"
 	if strings.Join(seen, "; ") != want {
 		t.Error("what Get is asked", strings.Join(seen, "; "))
 	}
-	switches := 0
-	for i, x := range c.Instrs {
-		y := plain.Instrs[i]
-		switch {
-		case y.Op == code.OpGetConst:
-			y.Op = code.OpGetConstRead
-		case y.Op == code.OpSwitch && i == plain.Entry[api.Pred{Name: "q", Arity: 2}]:
-			y.Op, y.A = code.OpSwitchBound, -1
-			switches++
-		}
-		if x.Text() != y.Text() {
-			t.Error(i, short(x), short(y))
-		}
-	}
-	if switches != 1 {
-		t.Error("no switch of q")
+	whole := "allocate 2; getvar -1 0; getstruct f/2 1; var -2; var 48; getstruct g/1 48; val -1; read a 2; putval -1 0; putstruct f/1 1; val -2; call 17 q/2; cut; deallocate; proceed; " +
+		"bound -1 a:18 b:21; read a 0; getvar 16 1; proceed; read b 0; getvar 16 1; proceed; " +
+		"switch 25 1:27 2:29; try 27 1; trust 29 1; read 1 0; proceed; read 2 0; proceed"
+	if told(c) != whole {
+		t.Error("the code", told(c))
 	}
 	if c, err := With(p, Advice{}); err != api.OK || told(c) != told(plain) {
 		t.Error("without functions")
 	}
 	if _, err := With(sample.Load(t, "p:-q."), a); err != api.ErrUndef {
 		t.Error("check's error")
+	}
+}
+
+func TestBound(t *testing.T) {
+	// What stands behind OpSwitchBound: the chains of its cases that are not one alone, and the clauses' codes.
+	for text, want := range map[string]string{
+		"p(a). p(b).":                         "bound -1 a:3 b:5; getconst a 0; proceed; getconst b 0; proceed",
+		"p(a). p(b). p(a).":                   "bound -1 a:3 b:7; try 5 1; trust 9 1; getconst a 0; proceed; getconst b 0; proceed; getconst a 0; proceed",
+		"p(a). p(a).":                         "bound -1 a:3; try 5 1; trust 7 1; getconst a 0; proceed; getconst a 0; proceed",
+		"p(f(_)). p(2). p(f(1)). p(2). p(a).": "bound -1 2:3 a:17 f/1:5; try 10 1; trust 15 1; try 7 1; trust 12 1; getstruct f/1 0; var 16; proceed; getconst 2 0; proceed; getstruct f/1 0; const 1; proceed; getconst 2 0; proceed; getconst a 0; proceed",
+		"p(a). p(X).":                         "try 4 1; trust 6 1; getconst a 0; proceed; getvar 16 0; proceed",
+		"p(a).":                               "getconst a 0; proceed",
+		"p. p.":                               "try 4 0; trust 5 0; proceed; proceed",
+		"q(1). q(2). p(a):-q(1). p(b):-p(a).": "switch 3 1:5 2:7; try 5 1; trust 7 1; getconst 1 0; proceed; getconst 2 0; proceed; " +
+			"bound -1 a:10 b:15; allocate 0; getconst a 0; putconst 1 0; deallocate; execute 2 q/1; allocate 0; getconst b 0; putconst a 0; deallocate; execute 9 p/1",
+	} {
+		p := sample.Load(t, text)
+		plain, _ := Compile(p)
+		c, err := With(p, Advice{Bound: func(q api.Pred) bool { return q.Name == "p" }})
+		if err != api.OK || c.Check() != api.OK || told(c) != want || len(c.Entry) != len(plain.Entry) {
+			t.Errorf("%s:\n%s\n%s", text, told(c), want)
+		}
+		for i, x := range c.Instrs {
+			if i > 1 && reached(c)[i] == 0 {
+				t.Error(text, "nothing goes to", i, short(x))
+			}
+		}
+	}
+}
+
+// reached are the places to which something goes, each with how often.
+func reached(c code.Code) map[int]int {
+	r := map[int]int{}
+	for _, place := range c.Entry {
+		r[place]++
+	}
+	for i, x := range c.Instrs {
+		switch x.Op {
+		case code.OpTry, code.OpRetry, code.OpTrust, code.OpSwitch:
+			r[x.A]++
+		}
+		for _, d := range x.Cases {
+			r[d.To]++
+		}
+		if !x.Ends() {
+			r[i+1]++
+		}
+	}
+	return r
+}
+
+func TestBoundIsNotTooLong(t *testing.T) {
+	// Without the chain of all there is room for as many instructions more as that has.
+	p := api.Program{}
+	wide := term.F("=", term.F("f", make16()...), term.F("f", make16()...))
+	for i := range 120 {
+		c := api.Clause{Head: term.F("p", term.I(int64(i))), Vars: 16}
+		for range 3 {
+			c.Body = append(c.Body, wide)
+		}
+		p.Clauses = append(p.Clauses, c)
+	}
+	bound := Advice{Bound: func(api.Pred) bool { return true }}
+	count := func() int {
+		c, err := With(p, bound)
+		if err != api.OK || c.Check() != api.OK {
+			t.Fatal("no code", err)
+		}
+		return len(c.Instrs)
+	}
+	for i := 0; count() < code.MaxCode; i++ {
+		c := &p.Clauses[i%120]
+		if code.MaxCode-count() >= 35 {
+			c.Body = append(c.Body, wide)
+		} else {
+			c.Body = append(c.Body, term.A("true"))
+		}
+	}
+	if n := count(); n != code.MaxCode {
+		t.Fatal("the test's program", n)
+	}
+	if _, err := Compile(p); err != api.ErrLong {
+		t.Error("with the chain of all it is too long", err)
+	}
+	p.Clauses[0].Body = append(p.Clauses[0].Body, term.A("true"))
+	if c, err := With(p, bound); err != api.ErrLong || c.Instrs != nil || c.Entry != nil {
+		t.Error("one instruction more", err)
 	}
 }
 

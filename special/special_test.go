@@ -2,9 +2,11 @@ package special
 
 import (
 	"reflect"
+	"slices"
 	"strings"
 	"testing"
 
+	"resolvent/analyse"
 	"resolvent/api"
 	"resolvent/code"
 	"resolvent/compile"
@@ -16,7 +18,49 @@ import (
 
 var roomy = emu.Limits{Fuel: 20000, Heap: 1 << 16, Trail: 1 << 16, Choices: 1 << 16, Frames: 1 << 16}
 
-// both are a program's plain code and its special one.
+// withoutChains is plain code, but for the switches of predicates that are called with a first Arg that is bound: these have no place of a variable, and the chain to which that goes is not there.
+func withoutChains(plain code.Code, bound func(p api.Pred) bool) code.Code {
+	switches, gone := map[int]int{}, map[int]int{}
+	for p, at := range plain.Entry {
+		if plain.Instrs[at].Op != code.OpSwitch || !bound(p) {
+			continue
+		}
+		switches[at]++
+		for j := at + 1; isOfChain(plain.Instrs[j]); j++ {
+			gone[j]++
+			if plain.Instrs[j].Op == code.OpTrust {
+				break
+			}
+		}
+	}
+	to := make([]int, len(plain.Instrs))
+	for i := 1; i < len(to); i++ {
+		to[i] = to[i-1] + 1 - gone[i-1]
+	}
+	r := code.Code{Entry: map[api.Pred]int{}}
+	for p, at := range plain.Entry {
+		r.Entry[p] = to[at]
+	}
+	for i, x := range plain.Instrs {
+		switch x.Op {
+		case code.OpCall, code.OpExecute, code.OpTry, code.OpRetry, code.OpTrust, code.OpSwitch:
+			x.A = to[x.A]
+		}
+		x.Cases = slices.Clone(x.Cases)
+		for j := range x.Cases {
+			x.Cases[j].To = to[x.Cases[j].To]
+		}
+		if switches[i] > 0 {
+			x.Op, x.A = code.OpSwitchBound, -1
+		}
+		if gone[i] == 0 {
+			r.Instrs = append(r.Instrs, x)
+		}
+	}
+	return r
+}
+
+// both are a program's plain code and its special one, which is the plain one without some chains, and with other operations.
 func both(t *testing.T, text string) (code.Code, code.Code, api.Program) {
 	p := sample.Load(t, text)
 	plain, err := compile.Compile(p)
@@ -24,10 +68,28 @@ func both(t *testing.T, text string) (code.Code, code.Code, api.Program) {
 		t.Fatal(text, err)
 	}
 	special, err := Compile(p, p.Entries[0])
-	if err != api.OK || special.Check() != api.OK || len(special.Instrs) != len(plain.Instrs) || !reflect.DeepEqual(special.Entry, plain.Entry) {
+	if err != api.OK || special.Check() != api.OK || len(special.Instrs) > len(plain.Instrs) {
 		t.Fatal(text, err)
 	}
+	table, _ := analyse.Analyse(p, p.Entries[0])
+	want := withoutChains(plain, func(p api.Pred) bool { return table.Call(p).Type(0).Nonvar() || table.Call(p).Ground().Entails(0) })
+	if !reflect.DeepEqual(special.Entry, want.Entry) || len(special.Instrs) != len(want.Instrs) {
+		t.Fatal(text, "another code", len(special.Instrs), len(want.Instrs))
+	}
+	for i, x := range want.Instrs {
+		if x.Op != code.OpSwitchBound {
+			x.Op = special.Instrs[i].Op
+		}
+		if x.Text() != special.Instrs[i].Text() {
+			t.Fatal(text, "another instruction", x.Text(), special.Instrs[i].Text())
+		}
+	}
 	return plain, special, p
+}
+
+// isOfChain tells whether an operation is one of a chain of clauses.
+func isOfChain(i code.Instr) bool {
+	return i.Op == code.OpTry || i.Op == code.OpRetry || i.Op == code.OpTrust
 }
 
 // turned are the operations that are other ones, as the plain one and the special one.
@@ -35,25 +97,66 @@ func turned(t *testing.T, text string) string {
 	names := map[code.Op]string{code.OpGetConst: "const", code.OpGetConstRead: "read", code.OpGetConstWrite: "write", code.OpGetStruct: "struct", code.OpGetStructRead: "read", code.OpGetStructWrite: "write",
 		code.OpGetVal: "val", code.OpGetValSafe: "safe", code.OpUnifyVal: "unify", code.OpUnifyValSafe: "safe", code.OpSwitch: "switch", code.OpSwitchBound: "bound"}
 	plain, special, _ := both(t, text)
+	// Both are alike, one by one, but for the chains.
+	a, b := slices.DeleteFunc(plain.Instrs, isOfChain), slices.DeleteFunc(special.Instrs, isOfChain)
+	if len(a) != len(b) {
+		t.Fatal(text, "another number of instructions", len(a), len(b))
+	}
 	var l []string
-	for i, x := range plain.Instrs {
-		y := special.Instrs[i]
-		if name, ok := names[x.Op]; ok {
-			s := name
-			if x.Op != y.Op {
-				s += "-" + names[y.Op]
-			}
-			l = append(l, s)
+	for i, x := range a {
+		name, ok := names[x.Op]
+		if ok && x.Op != b[i].Op {
+			name += "-" + names[b[i].Op]
 		}
-		if x.Op == code.OpSwitch && y.Op == code.OpSwitchBound && y.A == -1 {
-			y.A = x.A
-		}
-		y.Op = x.Op
-		if x.Text() != y.Text() {
-			t.Error(text, "another instruction", x.Text(), y.Text())
+		if ok {
+			l = append(l, name)
+		} else if x.Op != b[i].Op {
+			t.Error(text, "another operation", x.Text(), b[i].Text())
 		}
 	}
 	return strings.Join(l, " ")
+}
+
+func TestOperationsOfApp(t *testing.T) {
+	_, c, _ := both(t, sample.App+":-entry(app(ground,ground,free)).")
+	want := []code.Op{
+		code.OpAnswer, code.OpFail, code.OpSwitchBound, code.OpGetConstRead, code.OpGetVar, code.OpGetValSafe, code.OpProceed,
+		code.OpAllocate, code.OpGetStructRead, code.OpUnifyVar, code.OpUnifyVar, code.OpGetVar, code.OpGetStructWrite, code.OpUnifyValSafe, code.OpUnifyVar,
+		code.OpPutVal, code.OpPutVal, code.OpPutVal, code.OpDeallocate, code.OpExecute,
+	}
+	var got []code.Op
+	for _, i := range c.Instrs {
+		got = append(got, i.Op)
+	}
+	if !slices.Equal(got, want) || c.Instrs[2].A != -1 || c.Instrs[2].Cases[0].To != 3 || c.Instrs[2].Cases[1].To != 7 || c.Instrs[19].A != 2 {
+		t.Error("app's code", got)
+	}
+}
+
+func TestChainsOfSwitches(t *testing.T) {
+	for text, want := range map[string]int{
+		"p(a). p(b). p(a). :-entry(p(any)).":                           5, // that of all, and a's
+		"p(a). p(b). p(a). :-entry(p(free)).":                          5,
+		"p(a). p(b). p(a). :-entry(p(atom)).":                          2, // a's alone
+		"p(a). p(b). :-entry(p(atom)).":                                0,
+		"p(a). p(a). :-entry(p(ground)).":                              2, // a's is of all, and stays
+		"p(a). p(X). :-entry(p(ground)).":                              2, // no switch
+		"p. p. :-entry(p).":                                            2,
+		"p(a,1). p(b,1):-q(X). q(f(_)). q(b). :-entry(p(any,any)).":    4, // q's first Arg is free
+		"p(a,1). p(b,1):-q(f(X)). q(f(_)). q(b). :-entry(p(any,any)).": 2,
+		"p(a). q(a). q(b). :-entry(p(any)).":                           0, // q is never called
+	} {
+		_, c, _ := both(t, text)
+		n := 0
+		for _, i := range c.Instrs {
+			if isOfChain(i) {
+				n++
+			}
+		}
+		if n != want {
+			t.Error(text, n)
+		}
+	}
 }
 
 func TestCompile(t *testing.T) {
