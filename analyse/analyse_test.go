@@ -121,6 +121,38 @@ func TestPointAndHead(t *testing.T) {
 	}
 }
 
+func TestPlacesOfBottom(t *testing.T) {
+	app := analysed(t, sample.App+":-entry(app(ground,ground,free)).")
+	never := analysed(t, "p(X,f(Y)):-fail,q(Z). q(X):-r(X,Y,Y),s. r(1,2,_). s. :-entry(p(any,any)).")
+	var none *Table
+	for i, c := range []struct {
+		d desc.D
+		n int
+	}{
+		{app.Point(1, 1), 4}, {app.Point(1, -1), 4}, {app.Point(1, 1<<62), 4}, {app.Point(0, 0), 1}, {app.Point(0, 7), 1},
+		{app.Head(1, 4), 7}, {app.Head(1, -1), 7}, {app.Head(1, -1<<62), 7}, {app.Head(0, 4), 4}, {app.Head(0, 99), 4},
+		// Of a clause that there is not, and of nil, there are no places.
+		{app.Point(2, 0), 0}, {app.Point(-1, 0), 0}, {app.Point(1<<62, 1), 0}, {app.Head(2, 0), 0}, {app.Head(-1, 3), 0}, {app.Head(-1<<62, 0), 0},
+		{none.Point(0, 0), 0}, {none.Head(0, 0), 0}, {none.Point(-1, -1), 0}, {none.Head(1, 9), 0},
+		// What is not come by is bottom of as many places as what is not there.
+		{never.Point(0, 1), 3}, {never.Point(0, 2), 3}, {never.Point(1, 0), 2}, {never.Point(1, 1), 2}, {never.Point(1, 2), 2}, {never.Point(2, 0), 1}, {never.Point(3, 0), 0},
+		{never.Head(0, 3), 5}, {never.Head(1, 0), 3}, {never.Head(1, 1), 3}, {never.Head(1, 2), 3}, {never.Head(2, 1), 4}, {never.Head(2, 3), 4}, {never.Head(2, 4), 4}, {never.Head(3, 0), 0}, {never.Head(3, 1), 0},
+		{never.Call(pred("q", 1)), 1}, {never.Success(pred("r", 3)), 3},
+	} {
+		if !c.d.IsBottom() || c.d.N() != c.n {
+			t.Error(i, "bottom of places", c.d.N(), c.n)
+		}
+	}
+	for i, c := range []struct {
+		d desc.D
+		n int
+	}{{app.Point(1, 0), 4}, {app.Head(1, 0), 7}, {app.Head(1, 3), 7}, {app.Head(0, 3), 4}, {never.Point(0, 0), 3}, {never.Head(0, 2), 5}} {
+		if c.d.IsBottom() || c.d.N() != c.n {
+			t.Error(i, "what there is", c.d.N(), c.n)
+		}
+	}
+}
+
 func TestCallsAreJoined(t *testing.T) {
 	table := analysed(t, "p:-q(1),q(a),q([]). q(_). :-entry(p).")
 	if c := table.Call(pred("q", 1)); c.Type(0).Text() != types.Join(types.Int(), types.Atoms("a", "[]")).Text() {
